@@ -113,7 +113,7 @@ func Bezout(a, b int64) (int64, int64, int64, bool) {
 
 // divide returns the quotient, rounded towards 0, and the remainder, which has the sign of a.
 func divide(a, b int64) (q, r int64, ok bool) {
-	if b == 0 || b == -1 && size(a) == tooBig {
+	if b == 0 || b == -1 && a == -tooBig {
 		return 0, 0, false
 	}
 	return a / b, a % b, true
