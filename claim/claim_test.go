@@ -1,6 +1,7 @@
 package claim
 
 import (
+	"cmp"
 	"math"
 	"slices"
 	"sort"
@@ -9,7 +10,24 @@ import (
 	"testing"
 
 	"sequitur/api"
+	"sequitur/sample"
 	"sequitur/term"
+)
+
+// Short names for what the tests are full of.
+var (
+	v, num, bound, app  = sample.Var, sample.Num, sample.Bound, sample.App
+	truth, falsity      = sample.True, sample.False
+	pred, eq, le, made  = sample.Pred, sample.Eq, sample.Le, sample.Made
+	not, and, or, imp   = sample.Not, sample.And, sample.Or, sample.Imp
+	iff, forAll, exists = sample.Iff, sample.All, sample.Ex
+	withTerms, withSubs = sample.WithTerms, sample.WithSubs
+	chain, sizedTerm    = sample.Chain, sample.SizedTerm
+	nots, sized, heavy  = sample.Nots, sample.SizedClaim, sample.Heavy
+	equal, twin         = sample.EqualClaims, sample.TwinClaim
+	spoil, spoilTerm    = sample.SpoilClaim, sample.SpoilTerm
+	text, texts         = sample.ClaimText, sample.ClaimTexts
+	termTexts           = sample.TermTexts
 )
 
 // What the chapter says, word by word, with nothing of the package in it; terms are left to layer 7.
@@ -78,11 +96,6 @@ func wantRight(c api.Claim) api.Errno {
 	return api.OK
 }
 
-// equal tells whether a and b are the same in everything, the names of binders too.
-func equal(a, b api.Claim) bool {
-	return a.Op == b.Op && a.Name == b.Name && a.Sort == b.Sort && slices.EqualFunc(a.Terms, b.Terms, term.Same) && slices.EqualFunc(a.Subs, b.Subs, equal)
-}
-
 // nameless is c without the names of its binders.
 func nameless(c api.Claim) api.Claim {
 	r := api.Claim{Op: c.Op, Name: c.Name, Sort: c.Sort, Terms: c.Terms}
@@ -104,13 +117,13 @@ func wantCompare(a, b api.Claim) int {
 		x, y := k[i], l[i]
 		switch {
 		case x.Op != y.Op:
-			return sign(x.Op > y.Op)
+			return cmp.Compare(x.Op, y.Op)
 		case x.Name != y.Name:
-			return sign(after([]byte(x.Name), []byte(y.Name)))
+			return strings.Compare(x.Name, y.Name)
 		case x.Sort != y.Sort:
-			return sign(after([]byte(x.Sort), []byte(y.Sort)))
+			return strings.Compare(x.Sort, y.Sort)
 		case len(x.Terms) != len(y.Terms):
-			return sign(len(x.Terms) > len(y.Terms))
+			return cmp.Compare(len(x.Terms), len(y.Terms))
 		}
 		for j := range x.Terms {
 			if d := term.Compare(x.Terms[j], y.Terms[j]); d != 0 {
@@ -118,27 +131,10 @@ func wantCompare(a, b api.Claim) int {
 			}
 		}
 		if len(x.Subs) != len(y.Subs) {
-			return sign(len(x.Subs) > len(y.Subs))
+			return cmp.Compare(len(x.Subs), len(y.Subs))
 		}
 	}
 	return 0
-}
-
-func sign(greater bool) int {
-	if greater {
-		return 1
-	}
-	return -1
-}
-
-// after tells of two different texts whether a comes after b, byte by byte.
-func after(a, b []byte) bool {
-	for i := range min(len(a), len(b)) {
-		if a[i] != b[i] {
-			return a[i] > b[i]
-		}
-	}
-	return len(a) > len(b)
 }
 
 func wantNames(l []api.Claim) []string {
@@ -204,145 +200,18 @@ func wantAtoms(l []api.Claim) []api.Claim {
 	return atoms
 }
 
-// text is c for the messages, without most of a long claim.
-func text(c api.Claim) string {
-	var b strings.Builder
-	write(&b, c)
-	return b.String()
-}
-
-func write(b *strings.Builder, c api.Claim) {
-	if b.Len() > 200 {
-		return
-	}
-	b.WriteString(strconv.Itoa(c.Op) + ":" + strconv.Quote(c.Name[:min(len(c.Name), 20)]) + ":" + strconv.Quote(c.Sort[:min(len(c.Sort), 20)]))
-	for _, t := range c.Terms {
-		b.WriteString(" ")
-		writeTerm(b, t)
-	}
-	for _, s := range c.Subs {
-		b.WriteString(" (")
-		write(b, s)
-		b.WriteString(")")
-	}
-}
-
-func writeTerm(b *strings.Builder, t api.Term) {
-	if b.Len() > 200 {
-		return
-	}
-	b.WriteString("<" + strconv.Itoa(t.Op) + ":" + strconv.Quote(t.Name) + ":" + strconv.FormatInt(t.Num, 10))
-	for _, a := range t.Args {
-		writeTerm(b, a)
-	}
-	b.WriteString(">")
-}
-
-func texts(l []api.Claim) string {
-	var s []string
-	for _, c := range l[:min(len(l), 6)] {
-		s = append(s, text(c))
-	}
-	return strconv.Itoa(len(l)) + " claims: " + strings.Join(s, ", ")
-}
-
-func termTexts(l []api.Term) string {
-	var b strings.Builder
-	for _, t := range l {
-		writeTerm(&b, t)
-	}
-	return strconv.Itoa(len(l)) + " terms: " + b.String()
-}
-
-// twins are the terms of l in new memory, nil where they are nil.
-func twins(l []api.Term) []api.Term {
-	if l == nil {
-		return nil
-	}
-	r := make([]api.Term, len(l))
-	for i, t := range l {
-		r[i] = t
-		r[i].Args = twins(t.Args)
-	}
-	return r
-}
-
-// twin is c in new memory, nil where c is nil.
-func twin(c api.Claim) api.Claim {
-	c.Terms = twins(c.Terms)
-	if c.Subs != nil {
-		subs := make([]api.Claim, len(c.Subs))
-		for i, s := range c.Subs {
-			subs[i] = twin(s)
-		}
-		c.Subs = subs
-	}
-	return c
-}
-
-func identicalTerms(a, b api.Term) bool {
-	return a.Op == b.Op && a.Name == b.Name && a.Num == b.Num && (a.Args == nil) == (b.Args == nil) && slices.EqualFunc(a.Args, b.Args, identicalTerms)
-}
-
-func identical(a, b api.Claim) bool {
-	return a.Op == b.Op && a.Name == b.Name && a.Sort == b.Sort && (a.Terms == nil) == (b.Terms == nil) && (a.Subs == nil) == (b.Subs == nil) &&
-		slices.EqualFunc(a.Terms, b.Terms, identicalTerms) && slices.EqualFunc(a.Subs, b.Subs, identical)
-}
-
 // unchanged calls f and holds the claims against what they were ahead of the call.
 func unchanged(t *testing.T, f func(), l ...api.Claim) {
 	t.Helper()
-	var before []api.Claim
-	for _, c := range l {
-		before = append(before, twin(c))
-	}
-	f()
-	for i := range l {
-		if !identical(l[i], before[i]) {
-			t.Errorf("%s became %s", text(before[i]), text(l[i]))
-		}
-	}
-}
-
-// memory are places that are taken, and whether one of them was taken twice.
-type memory struct {
-	claims map[*api.Claim]bool
-	terms  map[*api.Term]bool
-	twice  bool
-}
-
-func (m *memory) noteTerms(l []api.Term) {
-	whole := l[:cap(l)]
-	for i := range whole {
-		m.twice = m.twice || m.terms[&whole[i]]
-		m.terms[&whole[i]] = true
-	}
-	for _, t := range l {
-		m.noteTerms(t.Args)
-	}
-}
-
-func (m *memory) noteClaims(l []api.Claim) {
-	whole := l[:cap(l)]
-	for i := range whole {
-		m.twice = m.twice || m.claims[&whole[i]]
-		m.claims[&whole[i]] = true
-	}
-	for _, c := range l {
-		m.noteTerms(c.Terms)
-		m.noteClaims(c.Subs)
+	if s := sample.Changed(f, l...); s != "" {
+		t.Error(s)
 	}
 }
 
 // fresh reports an answer that shares memory with the arguments, or within itself.
 func fresh(t *testing.T, claims []api.Claim, terms []api.Term, arguments ...api.Claim) {
 	t.Helper()
-	m := memory{claims: map[*api.Claim]bool{}, terms: map[*api.Term]bool{}}
-	m.noteClaims(arguments)
-	m.twice = false
-	m.noteClaims(claims)
-	m.noteTerms(terms)
-	if m.twice {
+	if sample.Shares(api.Claim{Terms: terms, Subs: claims}, arguments...) {
 		t.Errorf("the answer of %s shares memory: %s; %s", texts(arguments), texts(claims), termTexts(terms))
 	}
 }
@@ -445,89 +314,8 @@ func checkCopy(t *testing.T, c api.Claim) {
 	checkClaims(t, "Copy", func() []api.Claim { return []api.Claim{Copy(c)} }, []api.Claim{c}, c)
 }
 
-func v(name string) api.Term { return api.Term{Op: api.TVar, Name: name} }
-
-func num(n int64) api.Term { return api.Term{Op: api.TNum, Num: n} }
-
-func bound(n int64) api.Term { return api.Term{Op: api.TBound, Num: n} }
-
-func app(name string, args ...api.Term) api.Term {
-	return api.Term{Op: api.TApp, Name: name, Args: args}
-}
-
-// chain is f(f(.. t)), n times.
-func chain(n int, t api.Term) api.Term {
-	for range n {
-		t = app("f", t)
-	}
-	return t
-}
-
-// sizedTerm is a right part by part term with n parts, as flat as functions of eight arguments let it be.
-func sizedTerm(n int) api.Term {
-	if n == 1 {
-		return v("x")
-	}
-	return app("f", sizedTerms(n-1)...)
-}
-
-// sizedTerms are at most eight terms with n parts together.
-func sizedTerms(n int) []api.Term {
-	var l []api.Term
-	for left := min(8, n); left > 0; left-- {
-		m := (n + left - 1) / left
-		l = append(l, sizedTerm(m))
-		n -= m
-	}
-	return l
-}
-
 // xs are n variables of the name x.
-func xs(n int) []api.Term { return slices.Repeat([]api.Term{v("x")}, n) }
-
-func truth() api.Claim { return api.Claim{Op: api.CTrue} }
-
-func falsity() api.Claim { return api.Claim{Op: api.CFalse} }
-
-func pred(name string, terms ...api.Term) api.Claim {
-	return api.Claim{Op: api.CPred, Name: name, Terms: terms}
-}
-
-func eq(a, b api.Term) api.Claim { return api.Claim{Op: api.CEq, Terms: []api.Term{a, b}} }
-
-func le(a, b api.Term) api.Claim { return api.Claim{Op: api.CLe, Terms: []api.Term{a, b}} }
-
-func made(op int, subs ...api.Claim) api.Claim { return api.Claim{Op: op, Subs: subs} }
-
-func not(c api.Claim) api.Claim { return made(api.CNot, c) }
-
-func and(a, b api.Claim) api.Claim { return made(api.CAnd, a, b) }
-
-func or(a, b api.Claim) api.Claim { return made(api.COr, a, b) }
-
-func imp(a, b api.Claim) api.Claim { return made(api.CImp, a, b) }
-
-func iff(a, b api.Claim) api.Claim { return made(api.CIff, a, b) }
-
-func forAll(name, sort string, c api.Claim) api.Claim {
-	return api.Claim{Op: api.CAll, Name: name, Sort: sort, Subs: []api.Claim{c}}
-}
-
-func exists(name, sort string, c api.Claim) api.Claim {
-	return api.Claim{Op: api.CEx, Name: name, Sort: sort, Subs: []api.Claim{c}}
-}
-
-// withTerms is c with other Terms.
-func withTerms(c api.Claim, terms ...api.Term) api.Claim {
-	c.Terms = terms
-	return c
-}
-
-// withSubs is c with other Subs.
-func withSubs(c api.Claim, subs ...api.Claim) api.Claim {
-	c.Subs = subs
-	return c
-}
+func xs(n int) []api.Term { return sample.Vars(n, "x") }
 
 // wraps put a claim one level deeper, each in a way of its own.
 func wraps() []func(api.Claim) api.Claim {
@@ -544,31 +332,6 @@ func wraps() []func(api.Claim) api.Claim {
 		func(c api.Claim) api.Claim { return exists("", "", c) },
 	}
 }
-
-// nested is c within n wraps.
-func nested(n int, c api.Claim, wrap func(api.Claim) api.Claim) api.Claim {
-	for range n {
-		c = wrap(c)
-	}
-	return c
-}
-
-// nots is not not .. c, n times.
-func nots(n int, c api.Claim) api.Claim { return nested(n, c, not) }
-
-// sized is a right part by part claim with n parts and no terms, as flat as it can be.
-func sized(n int) api.Claim {
-	switch n {
-	case 1:
-		return truth()
-	case 2:
-		return not(falsity())
-	}
-	return and(sized((n-1)/2), sized(n-1-(n-1)/2))
-}
-
-// heavy is a claim of one part with the size n.
-func heavy(n int) api.Claim { return pred("p", sizedTerms(n-1)...) }
 
 // proper is a right part with that Op, each time in new memory.
 func proper(op int) api.Claim {
@@ -783,12 +546,12 @@ func TestDepthAtTheLimit(t *testing.T) {
 	for _, wrap := range wraps() {
 		for _, leaf := range []api.Claim{truth(), pred("p", chain(9, v("x")))} {
 			for _, n := range []int{1, 2, 62, 63, 64} {
-				c := nested(n-1, leaf, wrap)
+				c := sample.Nested(n-1, leaf, wrap)
 				checkRight(t, c, api.OK)
 				checkMeasures(t, c, wantSize(c), n)
 			}
 			for _, n := range []int{65, 66, 67, 200, 1000} {
-				c := nested(n-1, leaf, wrap)
+				c := sample.Nested(n-1, leaf, wrap)
 				checkRight(t, c, api.ErrDeep)
 				checkMeasures(t, c, wantSize(c), 65)
 			}
@@ -943,7 +706,7 @@ func TestCompareByOp(t *testing.T) {
 	ops := []int{math.MinInt, -1 << 32, -1, 0, 1, 2, 3, 4, 5, 6, 7, 8, 9, 10, 11, 12, 13, 1 << 32, math.MaxInt}
 	for i, m := range ops {
 		for j, n := range ops {
-			want := order(i, j)
+			want := cmp.Compare(i, j)
 			checkCompare(t, made(m), made(n), want)
 			checkCompare(t, and(truth(), made(m)), and(truth(), made(n)), want)
 			if want < 0 {
@@ -953,14 +716,6 @@ func TestCompareByOp(t *testing.T) {
 	}
 }
 
-// order is how the places of two things in increasing order compare.
-func order(i, j int) int {
-	if i == j {
-		return 0
-	}
-	return sign(i > j)
-}
-
 func TestCompareByEachField(t *testing.T) {
 	checkCompare(t, api.Claim{}, api.Claim{}, 0)
 	checkCompare(t, api.Claim{}, api.Claim{Terms: []api.Term{}, Subs: []api.Claim{}}, 0)
@@ -968,7 +723,7 @@ func TestCompareByEachField(t *testing.T) {
 	names := []string{"", "\x00", "\x00\x00", "A", "AA", "AB", "B", "Z", "_", "a", "aa", "z", "\x7f", "\x80", "ä", "\xff", "\xff\xff"}
 	for i, m := range names {
 		for j, n := range names {
-			want := order(i, j)
+			want := cmp.Compare(i, j)
 			checkCompare(t, pred(m, v("x")), pred(n, v("x")), want)
 			checkCompare(t, not(or(truth(), pred(m))), not(or(truth(), pred(n))), want)
 			checkCompare(t, api.Claim{Op: api.CNot, Name: m}, api.Claim{Op: api.CNot, Name: n}, want)
@@ -981,11 +736,11 @@ func TestCompareByEachField(t *testing.T) {
 	}
 	for m := range 10 {
 		for n := range 10 {
-			checkCompare(t, pred("p", xs(m)...), pred("p", xs(n)...), order(m, n))
-			checkCompare(t, not(withTerms(truth(), xs(m)...)), not(withTerms(truth(), xs(n)...)), order(m, n))
+			checkCompare(t, pred("p", xs(m)...), pred("p", xs(n)...), cmp.Compare(m, n))
+			checkCompare(t, not(withTerms(truth(), xs(m)...)), not(withTerms(truth(), xs(n)...)), cmp.Compare(m, n))
 			few, more := slices.Repeat([]api.Claim{falsity()}, m), slices.Repeat([]api.Claim{falsity()}, n)
-			checkCompare(t, made(api.CAnd, few...), made(api.CAnd, more...), order(m, n))
-			checkCompare(t, forAll("x", "A", withSubs(truth(), few...)), forAll("y", "A", withSubs(truth(), more...)), order(m, n))
+			checkCompare(t, made(api.CAnd, few...), made(api.CAnd, more...), cmp.Compare(m, n))
+			checkCompare(t, forAll("x", "A", withSubs(truth(), few...)), forAll("y", "A", withSubs(truth(), more...)), cmp.Compare(m, n))
 		}
 	}
 	for i := range 8 {
@@ -1045,7 +800,7 @@ func TestCompareOfDeepAndLargeClaims(t *testing.T) {
 		checkCompare(t, nots(n, pred("a")), nots(n, pred("a")), 0)
 		checkCompare(t, nots(n, pred("a")), nots(n, pred("b")), -1)
 		checkCompare(t, nots(n, pred("a")), nots(n+1, pred("a")), -1)
-		checkCompare(t, nested(n, pred("a"), wraps()[7]), nested(n, pred("a"), func(c api.Claim) api.Claim { return forAll("y", "A", c) }), 0)
+		checkCompare(t, sample.Nested(n, pred("a"), wraps()[7]), sample.Nested(n, pred("a"), func(c api.Claim) api.Claim { return forAll("y", "A", c) }), 0)
 	}
 	for _, n := range []int{4096, 4097, 20000} {
 		l := xs(n)
@@ -1163,8 +918,8 @@ func TestAndAndOr(t *testing.T) {
 	checkAnd(t, []api.Claim{truth(), falsity()}, and(truth(), falsity()))
 	checkOr(t, []api.Claim{truth(), falsity()}, or(truth(), falsity()))
 	many := slices.Repeat([]api.Claim{a}, 1<<15)
-	checkAnd(t, many, nested(len(many)-1, a, func(c api.Claim) api.Claim { return and(a, c) }))
-	checkOr(t, many, nested(len(many)-1, a, func(c api.Claim) api.Claim { return or(a, c) }))
+	checkAnd(t, many, sample.Nested(len(many)-1, a, func(c api.Claim) api.Claim { return and(a, c) }))
+	checkOr(t, many, sample.Nested(len(many)-1, a, func(c api.Claim) api.Claim { return or(a, c) }))
 }
 
 func TestFlat(t *testing.T) {
@@ -1284,25 +1039,6 @@ func TestCopy(t *testing.T) {
 		if got := Copy(c); got.Name != name || got.Subs[0].Subs[0].Name != name || got.Subs[0].Subs[0].Sort != name {
 			t.Errorf("%q became %s", name, text(got))
 		}
-	}
-}
-
-// spoil changes all parts of c but c itself, and all its terms.
-func spoil(c api.Claim) {
-	for i := range c.Terms {
-		spoilTerm(c.Terms[i])
-		c.Terms[i] = num(99)
-	}
-	for i := range c.Subs {
-		spoil(c.Subs[i])
-		c.Subs[i] = pred("spoilt")
-	}
-}
-
-func spoilTerm(t api.Term) {
-	for i := range t.Args {
-		spoilTerm(t.Args[i])
-		t.Args[i] = num(99)
 	}
 }
 

@@ -1,6 +1,7 @@
 package term
 
 import (
+	"cmp"
 	"math"
 	"slices"
 	"sort"
@@ -9,6 +10,16 @@ import (
 	"testing"
 
 	"sequitur/api"
+	"sequitur/sample"
+)
+
+// Short names for what the tests are full of.
+var (
+	v, bound, app, num = sample.Var, sample.Bound, sample.App, sample.Num
+	add, sub, neg, mul = sample.Add, sample.Sub, sample.Neg, sample.Mul
+	with, chain, sized = sample.WithArgs, sample.Chain, sample.SizedTerm
+	equal, twin, spoil = sample.EqualTerms, sample.TwinTerm, sample.SpoilTerm
+	text, texts        = sample.TermText, sample.TermTexts
 )
 
 // What the chapter says, word by word, with nothing of the package in it.
@@ -61,18 +72,6 @@ func wantRight(t api.Term) api.Errno {
 	return api.OK
 }
 
-func equal(a, b api.Term) bool {
-	if a.Op != b.Op || a.Name != b.Name || a.Num != b.Num || len(a.Args) != len(b.Args) {
-		return false
-	}
-	for i := range a.Args {
-		if !equal(a.Args[i], b.Args[i]) {
-			return false
-		}
-	}
-	return true
-}
-
 // wantCompare looks for the first part, in preorder, that differs: up to there both have the same parts at the same places.
 func wantCompare(a, b api.Term) int {
 	k, l := listed(a), listed(b)
@@ -80,33 +79,16 @@ func wantCompare(a, b api.Term) int {
 		x, y := k[i], l[i]
 		switch {
 		case x.Op != y.Op:
-			return sign(x.Op > y.Op)
+			return cmp.Compare(x.Op, y.Op)
 		case x.Num != y.Num:
-			return sign(x.Num > y.Num)
+			return cmp.Compare(x.Num, y.Num)
 		case x.Name != y.Name:
-			return sign(after([]byte(x.Name), []byte(y.Name)))
+			return strings.Compare(x.Name, y.Name)
 		case len(x.Args) != len(y.Args):
-			return sign(len(x.Args) > len(y.Args))
+			return cmp.Compare(len(x.Args), len(y.Args))
 		}
 	}
 	return 0
-}
-
-func sign(greater bool) int {
-	if greater {
-		return 1
-	}
-	return -1
-}
-
-// after tells of two different texts whether a comes after b, byte by byte.
-func after(a, b []byte) bool {
-	for i := range min(len(a), len(b)) {
-		if a[i] != b[i] {
-			return a[i] > b[i]
-		}
-	}
-	return len(a) > len(b)
 }
 
 func wantNames(l []api.Term) []string {
@@ -151,92 +133,18 @@ func wantReplace(t, from, to api.Term) api.Term {
 	return r
 }
 
-// text is t for the messages, without most of a long term.
-func text(t api.Term) string {
-	var b strings.Builder
-	write(&b, t)
-	return b.String()
-}
-
-func write(b *strings.Builder, t api.Term) {
-	if b.Len() > 200 {
-		return
-	}
-	b.WriteString(strconv.Itoa(t.Op) + ":" + strconv.Quote(t.Name[:min(len(t.Name), 20)]) + ":" + strconv.FormatInt(t.Num, 10))
-	for _, a := range t.Args {
-		b.WriteString(" (")
-		write(b, a)
-		b.WriteString(")")
-	}
-}
-
-func texts(l []api.Term) string {
-	var s []string
-	for _, t := range l[:min(len(l), 6)] {
-		s = append(s, text(t))
-	}
-	return strconv.Itoa(len(l)) + " terms: " + strings.Join(s, ", ")
-}
-
-// twin is t in new memory, nil where t is nil.
-func twin(t api.Term) api.Term {
-	if t.Args != nil {
-		args := make([]api.Term, len(t.Args))
-		for i, a := range t.Args {
-			args[i] = twin(a)
-		}
-		t.Args = args
-	}
-	return t
-}
-
-func identical(a, b api.Term) bool {
-	if a.Op != b.Op || a.Name != b.Name || a.Num != b.Num || len(a.Args) != len(b.Args) || (a.Args == nil) != (b.Args == nil) {
-		return false
-	}
-	for i := range a.Args {
-		if !identical(a.Args[i], b.Args[i]) {
-			return false
-		}
-	}
-	return true
-}
-
 // unchanged calls f and holds the terms against what they were ahead of the call.
 func unchanged(t *testing.T, f func(), l ...api.Term) {
 	t.Helper()
-	var before []api.Term
-	for _, x := range l {
-		before = append(before, twin(x))
+	if s := sample.Changed(f, api.Claim{Terms: l}); s != "" {
+		t.Error(s)
 	}
-	f()
-	for i := range l {
-		if !identical(l[i], before[i]) {
-			t.Errorf("%s became %s", text(before[i]), text(l[i]))
-		}
-	}
-}
-
-// occupied notes the places of memory that the terms of l take, their own and those of their Args; it tells whether one of them was noted already.
-func occupied(places map[*api.Term]bool, l []api.Term) bool {
-	twice := false
-	whole := l[:cap(l)]
-	for i := range whole {
-		twice = twice || places[&whole[i]]
-		places[&whole[i]] = true
-	}
-	for i := range l {
-		twice = occupied(places, l[i].Args) || twice
-	}
-	return twice
 }
 
 // fresh reports an answer that shares memory with the arguments, or within itself.
 func fresh(t *testing.T, answer []api.Term, arguments ...api.Term) {
 	t.Helper()
-	places := map[*api.Term]bool{}
-	occupied(places, arguments)
-	if occupied(places, answer) {
+	if sample.Shares(api.Claim{Terms: answer}, api.Claim{Terms: arguments}) {
 		t.Errorf("the answer of %s shares memory: %s", texts(arguments), texts(answer))
 	}
 }
@@ -330,34 +238,8 @@ func checkCopy(t *testing.T, x api.Term) {
 	}, x)
 }
 
-func v(name string) api.Term { return api.Term{Op: api.TVar, Name: name} }
-
-func bound(n int64) api.Term { return api.Term{Op: api.TBound, Num: n} }
-
-func app(name string, args ...api.Term) api.Term {
-	return api.Term{Op: api.TApp, Name: name, Args: args}
-}
-
-func num(n int64) api.Term { return api.Term{Op: api.TNum, Num: n} }
-
-func add(a, b api.Term) api.Term { return api.Term{Op: api.TAdd, Args: []api.Term{a, b}} }
-
-func sub(a, b api.Term) api.Term { return api.Term{Op: api.TSub, Args: []api.Term{a, b}} }
-
-func neg(a api.Term) api.Term { return api.Term{Op: api.TNeg, Args: []api.Term{a}} }
-
-func mul(n int64, a api.Term) api.Term {
-	return api.Term{Op: api.TMul, Num: n, Args: []api.Term{a}}
-}
-
-// with is t with other Args.
-func with(t api.Term, args ...api.Term) api.Term {
-	t.Args = args
-	return t
-}
-
 // xs are n variables of the name x.
-func xs(n int) []api.Term { return slices.Repeat([]api.Term{v("x")}, n) }
+func xs(n int) []api.Term { return sample.Vars(n, "x") }
 
 // wraps put a term one level deeper, each in a way of its own.
 func wraps() []func(api.Term) api.Term {
@@ -369,31 +251,6 @@ func wraps() []func(api.Term) api.Term {
 		func(t api.Term) api.Term { return sub(bound(0), t) },
 		func(t api.Term) api.Term { return app("g", v("x"), t, app("c")) },
 	}
-}
-
-// nested is t within n wraps.
-func nested(n int, t api.Term, wrap func(api.Term) api.Term) api.Term {
-	for range n {
-		t = wrap(t)
-	}
-	return t
-}
-
-// chain is f(f(.. t)), n times.
-func chain(n int, t api.Term) api.Term { return nested(n, t, wraps()[0]) }
-
-// sized is a right part by part term with n parts, as flat as functions of eight arguments let it be.
-func sized(n int) api.Term {
-	if n == 1 {
-		return v("x")
-	}
-	t, rest := app("f"), n-1
-	for left := min(8, rest); left > 0; left-- {
-		m := (rest + left - 1) / left
-		t.Args = append(t.Args, sized(m))
-		rest -= m
-	}
-	return t
 }
 
 // leaves are terms without Args, right and wrong ones.
@@ -539,12 +396,12 @@ func TestDepthAtTheLimit(t *testing.T) {
 	for _, wrap := range wraps() {
 		for _, leaf := range []api.Term{v("x"), app("c"), num(-1)} {
 			for _, n := range []int{1, 2, 62, 63, 64} {
-				x := nested(n-1, leaf, wrap)
+				x := sample.Nested(n-1, leaf, wrap)
 				checkRight(t, x, api.OK)
 				checkMeasures(t, x, wantSize(x), n)
 			}
 			for _, n := range []int{65, 66, 67, 200, 1000} {
-				x := nested(n-1, leaf, wrap)
+				x := sample.Nested(n-1, leaf, wrap)
 				checkRight(t, x, api.ErrDeep)
 				checkMeasures(t, x, wantSize(x), 65)
 			}
@@ -671,10 +528,7 @@ func TestCompareByEachField(t *testing.T) {
 	numbers := []int64{math.MinInt64, -1 << 32, -2, -1, 0, 1, 2, 1 << 32, math.MaxInt64 - 1, math.MaxInt64}
 	for i, m := range numbers {
 		for j, n := range numbers {
-			want := sign(i > j)
-			if i == j {
-				want = 0
-			}
+			want := cmp.Compare(i, j)
 			checkCompare(t, num(m), num(n), want)
 			checkCompare(t, app("f", v("x"), mul(m, v("y"))), app("f", v("x"), mul(n, v("y"))), want)
 			checkCompare(t, api.Term{Op: int(m)}, api.Term{Op: int(n)}, want)
@@ -684,10 +538,7 @@ func TestCompareByEachField(t *testing.T) {
 	names := []string{"", "\x00", "\x00\x00", "A", "AA", "AB", "B", "Z", "_", "a", "aa", "z", "\x7f", "\x80", "ä", "\xff", "\xff\xff"}
 	for i, m := range names {
 		for j, n := range names {
-			want := sign(i > j)
-			if i == j {
-				want = 0
-			}
+			want := cmp.Compare(i, j)
 			checkCompare(t, v(m), v(n), want)
 			checkCompare(t, app(m, v("x")), app(n, v("x")), want)
 			checkCompare(t, app("f", v("x"), neg(v(m))), app("f", v("x"), neg(v(n))), want)
@@ -695,10 +546,7 @@ func TestCompareByEachField(t *testing.T) {
 	}
 	for m := range 10 {
 		for n := range 10 {
-			want := sign(m > n)
-			if m == n {
-				want = 0
-			}
+			want := cmp.Compare(m, n)
 			checkCompare(t, app("f", xs(m)...), app("f", xs(n)...), want)
 			checkCompare(t, neg(with(num(1), xs(m)...)), neg(with(num(1), xs(n)...)), want)
 		}
@@ -944,14 +792,6 @@ func TestAnswersShareNoMemory(t *testing.T) {
 	spoil(parts[0])
 	if !equal(y, whole) || !equal(to, app("g", v("y"), v("y"))) || !slices.EqualFunc(parts[1:], wantedParts[1:], equal) {
 		t.Errorf("a changed answer changed %s, %s or %s", text(y), text(to), texts(parts))
-	}
-}
-
-// spoil changes all parts of t but t itself.
-func spoil(t api.Term) {
-	for i := range t.Args {
-		spoil(t.Args[i])
-		t.Args[i] = num(99)
 	}
 }
 

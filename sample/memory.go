@@ -1,0 +1,133 @@
+package sample
+
+import (
+	"slices"
+
+	"sequitur/api"
+)
+
+// EqualTerms tells whether a and b are the same in everything; an empty list may be nil.
+func EqualTerms(a, b api.Term) bool {
+	return a.Op == b.Op && a.Name == b.Name && a.Num == b.Num && slices.EqualFunc(a.Args, b.Args, EqualTerms)
+}
+
+// EqualClaims tells whether a and b are the same in everything, the names of binders too; an empty list may be nil.
+func EqualClaims(a, b api.Claim) bool {
+	return a.Op == b.Op && a.Name == b.Name && a.Sort == b.Sort && slices.EqualFunc(a.Terms, b.Terms, EqualTerms) && slices.EqualFunc(a.Subs, b.Subs, EqualClaims)
+}
+
+// TwinTerm is t in new memory, nil where t is nil.
+func TwinTerm(t api.Term) api.Term {
+	t.Args = twins(t.Args, TwinTerm)
+	return t
+}
+
+// TwinClaim is c in new memory, nil where c is nil.
+func TwinClaim(c api.Claim) api.Claim {
+	c.Terms = twins(c.Terms, TwinTerm)
+	c.Subs = twins(c.Subs, TwinClaim)
+	return c
+}
+
+// twins are the elements of l in new memory, nil where l is nil.
+func twins[T any](l []T, twin func(T) T) []T {
+	if l == nil {
+		return nil
+	}
+	r := make([]T, len(l))
+	for i, x := range l {
+		r[i] = twin(x)
+	}
+	return r
+}
+
+// Changed calls f and tells what became of the first claim of l that f changed, be it from nil to an empty list; nothing if f changed none.
+func Changed(f func(), l ...api.Claim) string {
+	before := twins(l, TwinClaim)
+	f()
+	for i := range l {
+		if !identicalClaims(l[i], before[i]) {
+			return ClaimText(before[i]) + " became " + ClaimText(l[i])
+		}
+	}
+	return ""
+}
+
+func identicalTerms(a, b api.Term) bool {
+	return a.Op == b.Op && a.Name == b.Name && a.Num == b.Num && identical(a.Args, b.Args, identicalTerms)
+}
+
+func identicalClaims(a, b api.Claim) bool {
+	return a.Op == b.Op && a.Name == b.Name && a.Sort == b.Sort && identical(a.Terms, b.Terms, identicalTerms) && identical(a.Subs, b.Subs, identicalClaims)
+}
+
+func identical[T any](a, b []T, same func(a, b T) bool) bool {
+	return (a == nil) == (b == nil) && slices.EqualFunc(a, b, same)
+}
+
+// Shares tells whether a list within answer shares memory with another one within it or within the arguments, be it behind its end.
+func Shares(answer api.Claim, arguments ...api.Claim) bool {
+	m := memory{terms: map[*api.Term]bool{}, claims: map[*api.Claim]bool{}}
+	m.noteClaims(arguments)
+	m.twice = false
+	m.note(answer)
+	return m.twice
+}
+
+// memory are places that are taken, and whether one of them was taken twice.
+type memory struct {
+	terms  map[*api.Term]bool
+	claims map[*api.Claim]bool
+	twice  bool
+}
+
+// note takes the places of the lists within c.
+func (m *memory) note(c api.Claim) {
+	m.noteTerms(c.Terms)
+	m.noteClaims(c.Subs)
+}
+
+func (m *memory) noteTerms(l []api.Term) {
+	m.twice = taken(m.terms, l) || m.twice
+	for _, t := range l {
+		m.noteTerms(t.Args)
+	}
+}
+
+func (m *memory) noteClaims(l []api.Claim) {
+	m.twice = taken(m.claims, l) || m.twice
+	for _, c := range l {
+		m.note(c)
+	}
+}
+
+// taken takes the places of l, those behind its end too, and tells whether one of them was taken already.
+func taken[T any](places map[*T]bool, l []T) bool {
+	twice := false
+	whole := l[:cap(l)]
+	for i := range whole {
+		twice = twice || places[&whole[i]]
+		places[&whole[i]] = true
+	}
+	return twice
+}
+
+// SpoilTerm changes all parts of t but t itself.
+func SpoilTerm(t api.Term) {
+	for i := range t.Args {
+		SpoilTerm(t.Args[i])
+		t.Args[i] = Num(99)
+	}
+}
+
+// SpoilClaim changes all parts of c but c itself, and all its terms.
+func SpoilClaim(c api.Claim) {
+	for i := range c.Terms {
+		SpoilTerm(c.Terms[i])
+		c.Terms[i] = Num(99)
+	}
+	for i := range c.Subs {
+		SpoilClaim(c.Subs[i])
+		c.Subs[i] = Pred("spoilt")
+	}
+}
