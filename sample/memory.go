@@ -16,6 +16,11 @@ func EqualClaims(a, b api.Claim) bool {
 	return a.Op == b.Op && a.Name == b.Name && a.Sort == b.Sort && slices.EqualFunc(a.Terms, b.Terms, EqualTerms) && slices.EqualFunc(a.Subs, b.Subs, EqualClaims)
 }
 
+// EqualPairs tells whether a and b are the same in everything; an empty list may be nil.
+func EqualPairs(a, b []api.Pair) bool {
+	return slices.EqualFunc(a, b, func(p, q api.Pair) bool { return p.Name == q.Name && EqualTerms(p.Term, q.Term) })
+}
+
 // TwinTerm is t in new memory, nil where t is nil.
 func TwinTerm(t api.Term) api.Term {
 	t.Args = twins(t.Args, TwinTerm)
@@ -27,6 +32,11 @@ func TwinClaim(c api.Claim) api.Claim {
 	c.Terms = twins(c.Terms, TwinTerm)
 	c.Subs = twins(c.Subs, TwinClaim)
 	return c
+}
+
+// TwinPairs is l in new memory, nil where l is nil.
+func TwinPairs(l []api.Pair) []api.Pair {
+	return twins(l, func(p api.Pair) api.Pair { return Pair(p.Name, TwinTerm(p.Term)) })
 }
 
 // twins are the elements of l in new memory, nil where l is nil.
@@ -45,9 +55,14 @@ func twins[T any](l []T, twin func(T) T) []T {
 func Changed(f func(), l ...api.Claim) string {
 	before := twins(l, TwinClaim)
 	f()
-	for i := range l {
-		if !identicalClaims(l[i], before[i]) {
-			return ClaimText(before[i]) + " became " + ClaimText(l[i])
+	return difference(before, l, identicalClaims, ClaimText)
+}
+
+// difference tells what became of the first element that is not the same before and after, nothing if all are.
+func difference[T any](before, after []T, same func(a, b T) bool, text func(T) string) string {
+	for i := range before {
+		if !same(before[i], after[i]) {
+			return text(before[i]) + " became " + text(after[i])
 		}
 	}
 	return ""
@@ -61,23 +76,24 @@ func identicalClaims(a, b api.Claim) bool {
 	return a.Op == b.Op && a.Name == b.Name && a.Sort == b.Sort && identical(a.Terms, b.Terms, identicalTerms) && identical(a.Subs, b.Subs, identicalClaims)
 }
 
+func identicalPairs(a, b []api.Pair) bool {
+	return identical(a, b, func(p, q api.Pair) bool { return p.Name == q.Name && identicalTerms(p.Term, q.Term) })
+}
+
 func identical[T any](a, b []T, same func(a, b T) bool) bool {
 	return (a == nil) == (b == nil) && slices.EqualFunc(a, b, same)
 }
 
 // Shares tells whether a list within answer shares memory with another one within it or within the arguments, be it behind its end.
 func Shares(answer api.Claim, arguments ...api.Claim) bool {
-	m := memory{terms: map[*api.Term]bool{}, claims: map[*api.Claim]bool{}}
-	m.noteClaims(arguments)
-	m.twice = false
-	m.note(answer)
-	return m.twice
+	return Data{Claims: []api.Claim{answer}}.Shares(Data{Claims: arguments})
 }
 
 // memory are places that are taken, and whether one of them was taken twice.
 type memory struct {
 	terms  map[*api.Term]bool
 	claims map[*api.Claim]bool
+	pairs  map[*api.Pair]bool
 	twice  bool
 }
 
@@ -98,6 +114,13 @@ func (m *memory) noteClaims(l []api.Claim) {
 	m.twice = taken(m.claims, l) || m.twice
 	for _, c := range l {
 		m.note(c)
+	}
+}
+
+func (m *memory) notePairs(l []api.Pair) {
+	m.twice = taken(m.pairs, l) || m.twice
+	for _, p := range l {
+		m.noteTerms(p.Term.Args)
 	}
 }
 
@@ -129,5 +152,13 @@ func SpoilClaim(c api.Claim) {
 	for i := range c.Subs {
 		SpoilClaim(c.Subs[i])
 		c.Subs[i] = Pred("spoilt")
+	}
+}
+
+// SpoilPairs changes all pairs of l, and all parts of their terms.
+func SpoilPairs(l []api.Pair) {
+	for i := range l {
+		SpoilTerm(l[i].Term)
+		l[i] = Pair("spoilt", Num(99))
 	}
 }

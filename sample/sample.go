@@ -1,4 +1,4 @@
-// Package sample is no layer but what the tests of the layers share: terms and claims in few words, of any size, as texts, and in memory of their own.
+// Package sample is no layer but what the tests of the layers share: terms, claims and substitutions in few words, of any size, as texts, and in memory of their own.
 package sample
 
 import (
@@ -100,3 +100,6 @@ func WithSubs(c api.Claim, subs ...api.Claim) api.Claim {
 	c.Subs = subs
 	return c
 }
+
+// Pair is a name, and what stands for it.
+func Pair(name string, t api.Term) api.Pair { return api.Pair{Name: name, Term: t} }

@@ -106,6 +106,9 @@ func TestTexts(t *testing.T) {
 	if s := ClaimTexts(nil); s != "0 claims: " {
 		t.Error(s)
 	}
+	if s := Lists([]api.Pair{Pair("x", Num(1))}, nil).With(Terms(Var("y"))).Text(); s != `[1 pairs: "x" := <4:"":1>] [0 pairs: ] 1 claims: (0:"":""<1:"y":0>)` {
+		t.Error(s)
+	}
 }
 
 func TestSpoil(t *testing.T) {
@@ -120,5 +123,75 @@ func TestSpoil(t *testing.T) {
 	SpoilClaim(c)
 	if !EqualClaims(c, And(Pred("spoilt"), Pred("spoilt"))) || !EqualTerms(terms[0], Num(99)) {
 		t.Error(ClaimText(c))
+	}
+}
+
+// list is a substitution, each time in new memory.
+func list() []api.Pair {
+	return []api.Pair{Pair("x", App("f", Var("y"))), Pair("y", Num(1)), Pair("z", App("g", App("f", Var("x"))))}
+}
+
+// listChanges are ways to change that list, each in one place.
+func listChanges() map[string]func(l *[]api.Pair) {
+	return map[string]func(l *[]api.Pair){
+		"name":        func(l *[]api.Pair) { (*l)[1].Name = "x" },
+		"term":        func(l *[]api.Pair) { (*l)[1].Term.Num = 2 },
+		"arg":         func(l *[]api.Pair) { (*l)[2].Term.Args[0].Args[0].Name = "y" },
+		"order":       func(l *[]api.Pair) { (*l)[0], (*l)[1] = (*l)[1], (*l)[0] },
+		"fewer pairs": func(l *[]api.Pair) { *l = (*l)[:2] },
+		"everything":  func(l *[]api.Pair) { SpoilPairs(*l) },
+	}
+}
+
+func TestPairsEqualAndChanged(t *testing.T) {
+	if d := Lists(list()); !d.Equal(Lists(TwinPairs(list()))) || d.Changed(func() {}) != "" || !EqualPairs(nil, []api.Pair{}) {
+		t.Error(d.Text())
+	}
+	for name, change := range listChanges() {
+		d := Lists(list(), list()).With(Claims(whole()))
+		said := d.Changed(func() { change(&d.Pairs[1]) })
+		if d.Equal(Lists(list(), list()).With(Claims(whole()))) || said == "" {
+			t.Errorf("%s: %q", name, said)
+		}
+	}
+	d := Lists(list()).With(Terms(Var("x"), Var("y")))
+	said := d.Changed(func() { d.Claims[0].Terms[1].Name = "z" })
+	if d.Equal(Lists(list()).With(Terms(Var("x"), Var("y")))) || said == "" {
+		t.Errorf("a term: %q", said)
+	}
+	empty := Lists(nil)
+	if said := empty.Changed(func() { empty.Pairs[0] = []api.Pair{} }); said == "" || !empty.Equal(Lists(nil)) || empty.Equal(Data{}) {
+		t.Errorf("an empty list in place of nil: %q", said)
+	}
+}
+
+func TestPairsShare(t *testing.T) {
+	l := list()
+	inner := l[2].Term.Args[0]
+	for i, d := range []Data{Lists(l), Lists(l[1:]), Lists(l[:0]), Terms(inner), Claims(Pred("p", Var("x"), inner)), Lists([]api.Pair{Pair("u", inner)}), Lists(l, l)} {
+		if !d.Shares(Lists(list(), l)) || d.Shares(Lists(list())) != (i == 6) {
+			t.Error(d.Text())
+		}
+	}
+	if d := Lists(TwinPairs(l), list()).With(Claims(whole())); d.Shares(Lists(l)) || !Lists([]api.Pair{Pair("u", inner), Pair("v", inner)}).Shares(Data{}) {
+		t.Error(d.Text())
+	}
+	if c := []api.Claim{whole(), whole()}; !Claims(c...).Shares(Claims(c...)) || !Shares(Made(api.CAnd, c...), c...) {
+		t.Error("a list of claims")
+	}
+}
+
+func TestWrong(t *testing.T) {
+	l := list()
+	for want, call := range map[string]func() Data{
+		"":         func() Data { return Lists(list()) },
+		"; want ":  func() Data { return Lists(nil) },
+		"became":   func() Data { l[0].Name = "y"; return Lists(list()) },
+		" share m": func() Data { return Lists(l) },
+	} {
+		l = list()
+		if said := Wrong(call, Lists(list()), Lists(l)); !strings.Contains(said, want) || (said == "") != (want == "") {
+			t.Errorf("%q: %q", want, said)
+		}
 	}
 }

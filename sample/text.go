@@ -24,6 +24,11 @@ func ClaimText(c api.Claim) string {
 	return b.String()
 }
 
+// PairsText are the first pairs of l, and how many there are.
+func PairsText(l []api.Pair) string {
+	return texts("pairs", l, func(p api.Pair) string { return quoted(p.Name) + " := " + TermText(p.Term) })
+}
+
 // TermTexts are the first terms of l, and how many there are.
 func TermTexts(l []api.Term) string { return texts("terms", l, TermText) }
 

@@ -1,0 +1,80 @@
+package sample
+
+import (
+	"slices"
+
+	"sequitur/api"
+)
+
+// Data are substitutions and claims together: what a call takes, or what it answers.
+type Data struct {
+	Pairs  [][]api.Pair
+	Claims []api.Claim
+}
+
+// Lists are substitutions as data.
+func Lists(l ...[]api.Pair) Data { return Data{Pairs: l} }
+
+// Claims are claims as data.
+func Claims(l ...api.Claim) Data { return Data{Claims: l} }
+
+// Terms are terms as data: those of one claim.
+func Terms(l ...api.Term) Data { return Claims(api.Claim{Terms: l}) }
+
+// With are d and e together.
+func (d Data) With(e Data) Data {
+	return Data{slices.Concat(d.Pairs, e.Pairs), slices.Concat(d.Claims, e.Claims)}
+}
+
+// Equal tells whether d and e are the same in everything; an empty list may be nil.
+func (d Data) Equal(e Data) bool {
+	return slices.EqualFunc(d.Pairs, e.Pairs, EqualPairs) && slices.EqualFunc(d.Claims, e.Claims, EqualClaims)
+}
+
+// Text is d without most of what is long.
+func (d Data) Text() string {
+	s := ""
+	for _, l := range d.Pairs {
+		s += "[" + PairsText(l) + "] "
+	}
+	return s + ClaimTexts(d.Claims)
+}
+
+// Changed calls f and tells what became of d if f changed it, be it from nil to an empty list; nothing if f did not.
+func (d Data) Changed(f func()) string {
+	before := twins(d.Pairs, TwinPairs)
+	said := Changed(f, d.Claims...)
+	return difference(before, d.Pairs, identicalPairs, PairsText) + said
+}
+
+// Shares tells whether a list of d shares memory with another one of d or with one of the arguments, be it behind its end.
+func (d Data) Shares(arguments Data) bool {
+	m := memory{terms: map[*api.Term]bool{}, claims: map[*api.Claim]bool{}, pairs: map[*api.Pair]bool{}}
+	m.noteData(arguments)
+	m.twice = false
+	m.noteData(d)
+	return m.twice
+}
+
+// noteData takes the places of the lists of d.
+func (m *memory) noteData(d Data) {
+	for _, l := range d.Pairs {
+		m.notePairs(l)
+	}
+	m.noteClaims(d.Claims)
+}
+
+// Wrong tells what is wrong with a call that is to make want of the arguments: another answer, changed arguments or shared memory; nothing if all is well.
+func Wrong(call func() Data, want, arguments Data) string {
+	var got Data
+	said := arguments.Changed(func() { got = call() })
+	switch {
+	case said != "":
+		return said
+	case !got.Equal(want):
+		return arguments.Text() + " give " + got.Text() + "; want " + want.Text()
+	case got.Shares(arguments):
+		return arguments.Text() + " share memory with " + got.Text()
+	}
+	return ""
+}
