@@ -705,13 +705,13 @@ func TestPairsFollowTheChapter(t *testing.T) {
 
 func TestCallsFollowTheChapter(t *testing.T) {
 	terms, claims := someTerms(), rightClaims(t)
-	for i, l := range someLists() {
+	for _, l := range someLists() {
 		for _, x := range terms {
 			checkApply(t, l, x, wantApply(l, x))
 		}
-		if !slices.ContainsFunc(l, func(q api.Pair) bool { return term.Right(q.Term) != api.OK }) {
-			for j := i % 5; j < len(claims); j += 5 {
-				checkApplyClaim(t, l, claims[j], wantApplyClaim(l, claims[j]))
+		for _, c := range claims {
+			if rightTerms(l) {
+				checkApplyClaim(t, l, c, wantApplyClaim(l, c))
 			}
 		}
 	}
@@ -901,22 +901,42 @@ func TestLongLists(t *testing.T) {
 
 // Promise 10.3.
 
+func checkOneAfterTheOther(t *testing.T, a, b, both list, terms []api.Term, claims []api.Claim) {
+	t.Helper()
+	for _, x := range terms {
+		if got, want := Apply(both, x), Apply(b, Apply(a, x)); !term.Same(got, want) {
+			t.Fatalf("%s, then %s, of %s: %s; want %s", listText(a), listText(b), termText(x), termText(got), termText(want))
+		}
+	}
+	for _, c := range claims {
+		if got, want := ApplyClaim(both, c), ApplyClaim(b, ApplyClaim(a, c)); !claim.Same(got, want) {
+			t.Fatalf("%s, then %s, of %s: %s; want %s", listText(a), listText(b), text(c), text(got), text(want))
+		}
+	}
+}
+
+// All lists, terms and claims of a small set.
 func TestThenIsOneAfterTheOther(t *testing.T) {
+	x, y := v("x"), v("y")
+	short := listsOf(2, []string{"x", "y"}, []api.Term{x, app("f", y, x), app("f", b(0), y)})
+	terms := []api.Term{x, y, v("z"), b(0), num(1), app("x"), app("f", x, app("f", y, b(1))), add(x, neg(y)), withArgs(x, y), withArgs(v("z"), y, x)}
+	claims := []api.Claim{p("p", x, y), p("x"), eq(b(0), x), within(1, p("p", x, b(0), b(1))), within(2, le(x, app("f", y, b(1)))), and(p("p", x), exists("y", "A", imp(p("p", y), forAll("x", "A", p("q", x, b(2))))))}
+	for _, a := range short {
+		for _, b := range short {
+			checkOneAfterTheOther(t, a, b, Then(a, b), terms, claims)
+		}
+	}
+}
+
+// Parts of a set that is too great for all of it.
+func TestThenIsOneAfterTheOtherForMore(t *testing.T) {
 	terms, claims := someTerms(), rightClaims(t)
 	short := listsOf(2, []string{"x", "y"}, pairTerms())
 	for i, a := range short {
 		for j, b := range short {
-			both := Then(a, b)
-			for k := (i + j) % 9; k < len(terms); k += 9 {
-				if got, want := Apply(both, terms[k]), Apply(b, Apply(a, terms[k])); !term.Same(got, want) {
-					t.Fatalf("%s, then %s, of %s: %s; want %s", listText(a), listText(b), termText(terms[k]), termText(got), termText(want))
-				}
-			}
-			for k := (i + j) % 31; k < len(claims); k += 31 {
-				c := claims[k]
-				if got, want := ApplyClaim(both, c), ApplyClaim(b, ApplyClaim(a, c)); !claim.Same(got, want) && rightTerms(a, b) {
-					t.Fatalf("%s, then %s, of %s: %s; want %s", listText(a), listText(b), text(c), text(got), text(want))
-				}
+			n, m := (i+j)%len(terms), (i+j)%len(claims)
+			if checkOneAfterTheOther(t, a, b, Then(a, b), terms[n:min(n+9, len(terms))], nil); rightTerms(a, b) {
+				checkOneAfterTheOther(t, a, b, Then(a, b), nil, claims[m:min(m+9, len(claims))])
 			}
 		}
 	}
