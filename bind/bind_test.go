@@ -23,6 +23,7 @@ var (
 	withArgs, withTerms = sample.WithArgs, sample.WithTerms
 	text, termText      = sample.ClaimText, sample.TermText
 	equal, equalTerms   = sample.EqualClaims, sample.EqualTerms
+	within, hulls       = sample.Within, sample.Hulls
 )
 
 const (
@@ -242,34 +243,9 @@ func checkClose(t *testing.T, c api.Claim, name string, want api.Claim) {
 	}
 }
 
-// within is c within n binders, of both kinds.
-func within(n int, c api.Claim) api.Claim {
-	for i := range n {
-		c = []func(string, string, api.Claim) api.Claim{forAll, exists}[i%2]("u", "A", c)
-	}
-	return c
-}
-
 // others are the Ops of claims that are no binders.
 func others() []int {
 	return []int{least, -12, -11, -1, 0, 1, 2, 3, 4, 5, 6, 7, 8, 9, 10, 13, 14, 256 + 11, 1<<32 + 12, greatest}
-}
-
-// hulls put a term into the Args of a part with each Op, right and wrong ones, among others or alone.
-func hulls() []func(api.Term) api.Term {
-	l := []func(api.Term) api.Term{
-		func(t api.Term) api.Term { return app("f", t) },
-		func(t api.Term) api.Term { return app("g", v("y"), t, num(2)) },
-		func(t api.Term) api.Term { return add(t, num(1)) },
-		func(t api.Term) api.Term { return sub(num(1), t) },
-		neg,
-		func(t api.Term) api.Term { return mul(3, t) },
-		func(t api.Term) api.Term { return app("f", neg(add(num(1), t))) },
-	}
-	for _, op := range []int{-2, 0, 1, 2, 3, 4, 5, 6, 7, 8, 9, 1<<32 + 2} {
-		l = append(l, func(t api.Term) api.Term { return api.Term{Op: op, Name: "h", Num: -1, Args: []api.Term{t}} })
-	}
-	return l
 }
 
 // Promise 9.1.

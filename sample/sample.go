@@ -1,4 +1,4 @@
-// Package sample is no layer but what the tests of the layers share: terms, claims and substitutions in few words, of any size, as texts, and in memory of their own.
+// Package sample is no layer but what the tests of the layers share: terms, claims and substitutions in few words, of every kind and any size, as texts, and in memory of their own.
 package sample
 
 import (

@@ -1,6 +1,7 @@
 package sample
 
 import (
+	"slices"
 	"strings"
 	"testing"
 
@@ -193,5 +194,74 @@ func TestWrong(t *testing.T) {
 		if said := Wrong(call, Lists(list()), Lists(l)); !strings.Contains(said, want) || (said == "") != (want == "") {
 			t.Errorf("%q: %q", want, said)
 		}
+	}
+}
+
+func TestWithin(t *testing.T) {
+	if c := Within(0, Pred("p")); !EqualClaims(c, Pred("p")) {
+		t.Error(ClaimText(c))
+	}
+	if c := Within(3, Pred("p")); !EqualClaims(c, All("u", "A", Ex("y", "A", All("x", "A", Pred("p"))))) {
+		t.Error(ClaimText(c))
+	}
+	if c := Within(60, Pred("p")); claim.Right(c) != api.OK || claim.Depth(c) != 61 {
+		t.Error(ClaimText(c))
+	}
+}
+
+// Each hull is another one, has the term as one of its Args or within, and is right if it is to be.
+func TestHulls(t *testing.T) {
+	part := App("part")
+	seen := map[string]bool{}
+	for i, hull := range Hulls() {
+		x := hull(part)
+		if !term.Has(x, part) || term.Depth(x) < 2 || seen[TermText(x)] || (term.Right(x) == api.OK) != (i < len(RightHulls())) {
+			t.Error(i, TermText(x))
+		}
+		seen[TermText(x)] = true
+	}
+	for _, hull := range RightHulls() {
+		if x := hull(api.Term{}); term.Right(x) != api.ErrForm || !seen[TermText(hull(part))] {
+			t.Error(TermText(x))
+		}
+	}
+	ops := map[int]bool{}
+	for _, hull := range Hulls() {
+		ops[hull(part).Op] = true
+	}
+	for op := range 10 {
+		if !ops[op] {
+			t.Error("no hull with Op", op)
+		}
+	}
+}
+
+func TestWrongTerms(t *testing.T) {
+	for e, x := range WrongTerms() {
+		if got := term.Right(x); got != e || e == api.OK || slices.ContainsFunc(term.Parts(x), func(p api.Term) bool { return p.Op == api.TBound }) {
+			t.Error(e, got, TermText(x))
+		}
+	}
+	if n := len(WrongTerms()); n != 4 {
+		t.Error(n)
+	}
+}
+
+func TestSubstitutions(t *testing.T) {
+	all := Substitutions(2, []string{"y", "x"}, []api.Term{Num(1), Num(2)})
+	seen := map[string]bool{}
+	for _, l := range all {
+		seen[PairsText(l)] = true
+	}
+	if len(all) != 1+4+16 || len(seen) != len(all) {
+		t.Error(len(all), len(seen))
+	}
+	for _, l := range [][]api.Pair{nil, {Pair("x", Num(2))}, {Pair("x", Num(1)), Pair("y", Num(1))}, {Pair("y", Num(2)), Pair("y", Num(1))}} {
+		if !seen[PairsText(l)] {
+			t.Error(PairsText(l))
+		}
+	}
+	if l := Substitutions(3, nil, nil); len(l) != 1 || len(l[0]) != 0 {
+		t.Error(len(l))
 	}
 }

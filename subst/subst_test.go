@@ -28,6 +28,9 @@ var (
 	equal, equalTerms          = sample.EqualClaims, sample.EqualTerms
 	asLists, asClaims, asTerms = sample.Lists, sample.Claims, sample.Terms
 	equalLists, twin, chain    = sample.EqualPairs, sample.TwinPairs, sample.Chain
+	within, wrongTerms         = sample.Within, sample.WrongTerms
+	hulls, rightHulls          = sample.Hulls, sample.RightHulls
+	listsOf                    = sample.Substitutions
 )
 
 type list = []api.Pair
@@ -219,35 +222,6 @@ func checkRename(t *testing.T, c api.Claim, from, into string, want api.Claim) {
 	check(t, "Rename "+quoted(from)+" to "+quoted(into), func() sample.Data { return asClaims(Rename(c, from, into)) }, asClaims(want), asClaims(c))
 }
 
-// within is c within n binders of both kinds, with names that are names of lists too.
-func within(n int, c api.Claim) api.Claim {
-	for i := range n {
-		c = []func(string, string, api.Claim) api.Claim{forAll, exists}[i%2]([]string{"x", "y", "u"}[i%3], "A", c)
-	}
-	return c
-}
-
-// hulls put a term into the Args of a part with each Op, right and wrong ones, among others or alone.
-func hulls() []func(api.Term) api.Term {
-	l := rightHulls()
-	for _, op := range []int{-1, 0, 2, 3, 4, 5, 6, 7, 8, 9, 1<<32 + 1} {
-		l = append(l, func(t api.Term) api.Term { return api.Term{Op: op, Name: "h", Num: -1, Args: []api.Term{t}} })
-	}
-	return append(l, func(t api.Term) api.Term { return withArgs(v("h"), t, num(1), t) })
-}
-
-func rightHulls() []func(api.Term) api.Term {
-	return []func(api.Term) api.Term{
-		func(t api.Term) api.Term { return app("f", t) },
-		func(t api.Term) api.Term { return app("g", v("h"), t, num(2), b(1)) },
-		func(t api.Term) api.Term { return add(t, num(1)) },
-		func(t api.Term) api.Term { return sub(num(1), t) },
-		neg,
-		func(t api.Term) api.Term { return mul(3, t) },
-		func(t api.Term) api.Term { return app("f", neg(add(t, t))) },
-	}
-}
-
 // Promise 10.1.
 
 func TestRight(t *testing.T) {
@@ -290,16 +264,6 @@ func TestRightOfWrongTerms(t *testing.T) {
 			checkRight(t, list{to("x", wrong), to("y", also)}, want)
 			checkRight(t, list{to("y", also), to("x", wrong)}, other)
 		}
-	}
-}
-
-// wrongTerms has a term with each error.
-func wrongTerms() map[api.Errno]api.Term {
-	return map[api.Errno]api.Term{
-		api.ErrDeep:  chain(64, v("x")),
-		api.ErrLong:  sample.SizedTerm(4097),
-		api.ErrForm:  app("f", b(-1)),
-		api.ErrArity: withArgs(v("x"), v("y")),
 	}
 }
 
@@ -636,24 +600,6 @@ func someTerms() []api.Term {
 func pairTerms() []api.Term {
 	x, y := v("x"), v("y")
 	return []api.Term{x, app("f", y, x), b(0), app("g", b(1), app("f", y)), withArgs(y, x), b(-1)}
-}
-
-// listsOf are all lists of at most n pairs of the names and the terms.
-func listsOf(n int, names []string, terms []api.Term) []list {
-	all := []list{nil}
-	last := all
-	for range n {
-		var longer []list
-		for _, l := range last {
-			for _, name := range names {
-				for _, x := range terms {
-					longer = append(longer, append(slices.Clip(l), to(name, x)))
-				}
-			}
-		}
-		all, last = append(all, longer...), longer
-	}
-	return all
 }
 
 // someLists are all small lists, right and wrong ones.

@@ -1,0 +1,65 @@
+package sample
+
+import (
+	"slices"
+
+	"sequitur/api"
+)
+
+// Within is c within n binders of both kinds, whose names are those of variables too.
+func Within(n int, c api.Claim) api.Claim {
+	for i := range n {
+		c = []func(string, string, api.Claim) api.Claim{All, Ex}[i%2]([]string{"x", "y", "u"}[i%3], "A", c)
+	}
+	return c
+}
+
+// Hulls put a term into the Args of a part with each Op, right and wrong ones, among others or alone.
+func Hulls() []func(api.Term) api.Term {
+	l := RightHulls()
+	for _, op := range []int{-2, -1, 0, 1, 2, 3, 4, 5, 6, 7, 8, 9, 1<<32 + 1, 1<<32 + 2} {
+		l = append(l, func(t api.Term) api.Term { return api.Term{Op: op, Name: "h", Num: -1, Args: []api.Term{t}} })
+	}
+	return append(l, func(t api.Term) api.Term { return WithArgs(Var("h"), t, Num(1), t) })
+}
+
+// RightHulls put a term into the Args of right parts, right if the term is.
+func RightHulls() []func(api.Term) api.Term {
+	return []func(api.Term) api.Term{
+		func(t api.Term) api.Term { return App("f", t) },
+		func(t api.Term) api.Term { return App("g", Var("h"), t, Num(2)) },
+		func(t api.Term) api.Term { return Add(t, Num(1)) },
+		func(t api.Term) api.Term { return Sub(Num(1), t) },
+		Neg,
+		func(t api.Term) api.Term { return Mul(3, t) },
+		func(t api.Term) api.Term { return App("f", Neg(Add(t, t))) },
+	}
+}
+
+// WrongTerms has a term with each error, none of them with a bound number.
+func WrongTerms() map[api.Errno]api.Term {
+	return map[api.Errno]api.Term{
+		api.ErrDeep:  Chain(64, Var("x")),
+		api.ErrLong:  SizedTerm(4097),
+		api.ErrForm:  App("f", api.Term{}),
+		api.ErrArity: WithArgs(Var("x"), Var("y")),
+	}
+}
+
+// Substitutions are all lists of at most n pairs of the names and the terms, right and wrong ones.
+func Substitutions(n int, names []string, terms []api.Term) [][]api.Pair {
+	all := [][]api.Pair{nil}
+	last := all
+	for range n {
+		var longer [][]api.Pair
+		for _, l := range last {
+			for _, name := range names {
+				for _, t := range terms {
+					longer = append(longer, append(slices.Clip(l), Pair(name, t)))
+				}
+			}
+		}
+		all, last = append(all, longer...), longer
+	}
+	return all
+}
