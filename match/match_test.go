@@ -29,6 +29,7 @@ var (
 	to, chain, sized, within   = sample.Pair, sample.Chain, sample.SizedTerm, sample.Within
 	hulls, rightHulls          = sample.Hulls, sample.RightHulls
 	wrongTerms, listsOf        = sample.WrongTerms, sample.Substitutions
+	renamed, termsOf           = sample.Renamed, sample.TermsOf
 )
 
 type list = []api.Pair
@@ -103,15 +104,6 @@ func wantTerm(t *testing.T, pattern, x api.Term, vars []string) (list, bool) {
 	return only(t, variables(vars, pattern), replacing(x), func(l list) bool { return term.Same(subst.Apply(l, pattern), x) })
 }
 
-// termsOf are the terms of all parts of c.
-func termsOf(c api.Claim) []api.Term {
-	l := slices.Clone(c.Terms)
-	for _, s := range c.Subs {
-		l = append(l, termsOf(s)...)
-	}
-	return l
-}
-
 func wantClaim(t *testing.T, pattern, c api.Claim, vars []string) (list, bool) {
 	t.Helper()
 	return only(t, variables(vars, termsOf(pattern)...), replacing(termsOf(c)...), func(l list) bool { return claim.Same(subst.ApplyClaim(l, pattern), c) })
@@ -164,16 +156,8 @@ func partAnswer(part api.Term, l list, ok bool) sample.Data { return answer(l, o
 // check calls f with vars in two orders, once and twice, and holds its answer against want, and the arguments against what they were; none of them may share memory.
 func check(t *testing.T, call string, f func(vars []string) sample.Data, want, arguments sample.Data, vars []string) {
 	t.Helper()
-	back := slices.Clone(vars)
-	slices.Reverse(back)
-	for _, names := range [][]string{vars, append(back, vars...)} {
-		before := slices.Clone(names)
-		if said := sample.Wrong(func() sample.Data { return f(names) }, want, arguments); said != "" {
-			t.Errorf("%s by %q: %s", call, names[:min(len(names), 6)], said)
-		}
-		if !slices.Equal(names, before) {
-			t.Errorf("%s: %q became %q", call, before, names)
-		}
+	if said := sample.WrongBy(f, want, arguments, vars); said != "" {
+		t.Errorf("%s: %s", call, said)
 	}
 }
 
@@ -498,19 +482,6 @@ func TestClaim(t *testing.T) {
 	}
 }
 
-// renamed is c with other names of binders.
-func renamed(c api.Claim, name string) api.Claim {
-	if c.Op == api.CAll || c.Op == api.CEx {
-		c.Name = name
-	}
-	subs := slices.Clone(c.Subs)
-	for i := range subs {
-		subs[i] = renamed(subs[i], name+"'")
-	}
-	c.Subs = subs
-	return c
-}
-
 func TestNamesOfBindersDoNotMatter(t *testing.T) {
 	x, y, c := v("x"), v("y"), app("c")
 	checkClaim(t, forAll("u", "A", eq(x, b(0))), forAll("v", "A", eq(c, b(0))), justX(), list{to("x", c)})
@@ -518,9 +489,9 @@ func TestNamesOfBindersDoNotMatter(t *testing.T) {
 		pattern, whole := and(p("p", y), within(k, p("p", x, b(0), y))), and(p("p", x), within(k, p("p", f(c), b(0), x)))
 		for _, name := range []string{"", "x", "y", "c", "u", "\xff"} {
 			for _, other := range []string{"", "x", "y", "z"} {
-				checkClaim(t, renamed(pattern, name), renamed(whole, other), xAndY(), list{to("x", f(c)), to("y", x)})
+				checkClaim(t, renamed(pattern, name, name+"'"), renamed(whole, other, "x"), xAndY(), list{to("x", f(c)), to("y", x)})
 			}
-			checkClaim(t, renamed(pattern, name), renamed(whole, "w"), []string{"u", "w", "x", "y"}, list{to("x", f(c)), to("y", x)})
+			checkClaim(t, renamed(pattern, name, name+"'"), renamed(whole, "w"), []string{"u", "w", "x", "y"}, list{to("x", f(c)), to("y", x)})
 			noClaim(t, renamed(pattern, name), renamed(whole, name), justX())
 		}
 	}
@@ -930,43 +901,23 @@ func TestResultsTurnPatternsIntoTerms(t *testing.T) {
 
 // Whatever becomes of an argument or of an answer, the other one stays as it was.
 func TestAnswersShareNoMemory(t *testing.T) {
-	var l list
-	var pattern, x api.Term
-	var c, d api.Claim
-	fresh := func() {
-		l = list{to("a", f(app("c"), b(0))), to("x", f(v("y")))}
-		pattern, x = g(v("x"), v("y"), f(v("z"))), g(f(v("y")), f(app("c"), f(num(1))), f(f(v("x"))))
-		c, d = and(p("p", pattern), within(1, eq(v("y"), pattern))), and(p("p", x), within(1, eq(f(app("c"), f(num(1))), x)))
-	}
 	vars := []string{"x", "y", "z"}
-	fresh()
-	for name, call := range map[string]func() sample.Data{
-		"Term":  func() sample.Data { return answer(Term(pattern, x, vars)) },
-		"Claim": func() sample.Data { return answer(Claim(c, d, vars)) },
-		"More":  func() sample.Data { return answer(More(l, pattern, x, vars)) },
-		"Any":   func() sample.Data { return partAnswer(Any(pattern, f(b(0), x), vars)) },
-	} {
-		got, want := call(), call()
-		if len(got.Pairs[0]) < 3 {
+	for _, name := range []string{"Term", "Claim", "More", "Any"} {
+		l := list{to("a", f(app("c"), b(0))), to("x", f(v("y")))}
+		pattern, x := g(v("x"), v("y"), f(v("z"))), g(f(v("y")), f(app("c"), f(num(1))), f(f(v("x"))))
+		c, d := and(p("p", pattern), within(1, eq(v("y"), pattern))), and(p("p", x), within(1, eq(f(app("c"), f(num(1))), x)))
+		call := map[string]func() sample.Data{
+			"Term":  func() sample.Data { return answer(Term(pattern, x, vars)) },
+			"Claim": func() sample.Data { return answer(Claim(c, d, vars)) },
+			"More":  func() sample.Data { return answer(More(l, pattern, x, vars)) },
+			"Any":   func() sample.Data { return partAnswer(Any(pattern, f(b(0), x), vars)) },
+		}[name]
+		if got := call(); len(got.Pairs[0]) < 3 {
 			t.Error(name, got.Text())
 		}
-		sample.SpoilPairs(got.Pairs[0])
-		for _, part := range got.Claims {
-			sample.SpoilClaim(part)
+		if said := sample.Tied(call, asLists(l).With(asTerms(pattern, x)).With(asClaims(c, d))); said != "" {
+			t.Error(name, said)
 		}
-		if again := call(); !again.Equal(want) {
-			t.Errorf("%s: a changed answer changed the next one to %s", name, again.Text())
-		}
-		kept := call()
-		sample.SpoilPairs(l)
-		sample.SpoilTerm(pattern)
-		sample.SpoilTerm(x)
-		sample.SpoilClaim(c)
-		sample.SpoilClaim(d)
-		if !kept.Equal(want) {
-			t.Errorf("%s: a changed argument changed %s", name, kept.Text())
-		}
-		fresh()
 	}
 }
 

@@ -2,6 +2,7 @@ package sample
 
 import (
 	"slices"
+	"strings"
 
 	"sequitur/api"
 )
@@ -75,6 +76,55 @@ func Wrong(call func() Data, want, arguments Data) string {
 		return arguments.Text() + " give " + got.Text() + "; want " + want.Text()
 	case got.Shares(arguments):
 		return arguments.Text() + " share memory with " + got.Text()
+	}
+	return ""
+}
+
+// WrongBy is Wrong of a call with names, which may stand in any order and more than once; it also tells whether the call changed them.
+func WrongBy(call func(names []string) Data, want, arguments Data, names []string) string {
+	back := slices.Clone(names)
+	slices.Reverse(back)
+	for _, l := range [][]string{names, append(back, names...)} {
+		before := slices.Clone(l)
+		said := Wrong(func() Data { return call(l) }, want, arguments)
+		if said == "" && !slices.Equal(l, before) {
+			said = "changed names"
+		}
+		if said != "" {
+			return said + " by " + strings.Join(twins(before[:min(len(before), 6)], quoted), " ")
+		}
+	}
+	return ""
+}
+
+// twin is d in new memory.
+func (d Data) twin() Data {
+	return Data{twins(d.Pairs, TwinPairs), twins(d.Claims, TwinClaim)}
+}
+
+// Spoil changes all lists of d.
+func (d Data) Spoil() {
+	for _, l := range d.Pairs {
+		SpoilPairs(l)
+	}
+	for _, c := range d.Claims {
+		SpoilClaim(c)
+	}
+}
+
+// Tied tells whether a changed answer of the call changes its next one, or changed arguments an answer that was there; nothing if neither does.
+// The arguments are spoilt then.
+func Tied(call func() Data, arguments Data) string {
+	got := call()
+	want := got.twin()
+	got.Spoil()
+	if again := call(); !again.Equal(want) {
+		return "a changed answer changed the next one to " + again.Text()
+	}
+	kept := call()
+	arguments.Spoil()
+	if !kept.Equal(want) {
+		return "a changed argument changed " + kept.Text()
 	}
 	return ""
 }

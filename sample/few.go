@@ -14,6 +14,25 @@ func Within(n int, c api.Claim) api.Claim {
 	return c
 }
 
+// Renamed is c with other names of binders, those of the first level ahead of those within it; after the last name comes the first one again.
+func Renamed(c api.Claim, names ...string) api.Claim {
+	if c.Op == api.CAll || c.Op == api.CEx {
+		c.Name = names[0]
+		names = append(slices.Clone(names[1:]), names[0])
+	}
+	c.Subs = twins(c.Subs, func(s api.Claim) api.Claim { return Renamed(s, names...) })
+	return c
+}
+
+// TermsOf are the terms of all parts of c in preorder, each as often as it stands there.
+func TermsOf(c api.Claim) []api.Term {
+	l := slices.Clone(c.Terms)
+	for _, s := range c.Subs {
+		l = append(l, TermsOf(s)...)
+	}
+	return l
+}
+
 // Hulls put a term into the Args of a part with each Op, right and wrong ones, among others or alone.
 func Hulls() []func(api.Term) api.Term {
 	l := RightHulls()

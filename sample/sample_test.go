@@ -197,6 +197,80 @@ func TestWrong(t *testing.T) {
 	}
 }
 
+func TestWrongBy(t *testing.T) {
+	names := []string{"x", "y"}
+	var calls []string
+	call := func(l []string) Data { calls = append(calls, strings.Join(l, "")); return Lists(list()) }
+	if said := WrongBy(call, Lists(list()), Lists(nil), names); said != "" || !slices.Equal(calls, []string{"xy", "yxxy"}) {
+		t.Error(said, calls)
+	}
+	if said := WrongBy(call, Lists(nil), Lists(nil), names); !strings.Contains(said, "; want ") || !strings.HasSuffix(said, ` by "x" "y"`) {
+		t.Error(said)
+	}
+	first := func(l []string) Data { return Lists([]api.Pair{Pair(l[0], Num(1))}) }
+	if said := WrongBy(first, Lists([]api.Pair{Pair("x", Num(1))}), Lists(nil), names); !strings.Contains(said, `"y" := `) {
+		t.Error(said)
+	}
+	if said := WrongBy(func(l []string) Data { l[1] = "z"; return Lists(nil) }, Lists(nil), Lists(nil), names); said != `changed names by "x" "y"` {
+		t.Error(said)
+	}
+	if said := WrongBy(func([]string) Data { return Lists(nil) }, Lists(nil), Lists(nil), nil); said != "" {
+		t.Error(said)
+	}
+}
+
+func TestTied(t *testing.T) {
+	var l []api.Pair
+	calls := 0
+	for want, call := range map[string]func() Data{
+		"":                 func() Data { return Lists(TwinPairs(l)).With(Claims(Pred("p", Num(2)))) },
+		"a changed answer": func() Data { return Lists(l) },
+		"a changed argument": func() Data {
+			if calls++; calls < 3 {
+				return Lists(TwinPairs(l))
+			}
+			return Lists(l)
+		},
+	} {
+		l = list()
+		if said := Tied(call, Lists(l)); !strings.HasPrefix(said, want) || (said == "") != (want == "") {
+			t.Errorf("%q: %q", want, said)
+		}
+	}
+	if l = list(); Tied(func() Data { return Lists(TwinPairs(l)) }, Lists(l)) != "" || EqualPairs(l, list()) {
+		t.Error(PairsText(l))
+	}
+	c := whole()
+	if Tied(func() Data { return Claims(api.Claim{Terms: c.Subs[0].Subs[0].Terms[1:]}) }, Claims(c)) == "" {
+		t.Error(ClaimText(c))
+	}
+}
+
+func TestRenamed(t *testing.T) {
+	c := And(Within(3, Pred("x", Var("y"))), Ex("z", "B", Eq(Var("x"), Bound(0))))
+	before := TwinClaim(c)
+	for want, names := range map[string][]string{"a,a,a,a": {"a"}, "a,b,a,a": {"a", "b"}, "a,b,,a": {"a", "b", "", "d"}} {
+		l := slices.Clone(names)
+		got := Renamed(c, l...)
+		one := got.Subs[0]
+		in := strings.Join([]string{one.Name, one.Subs[0].Name, one.Subs[0].Subs[0].Name, got.Subs[1].Name}, ",")
+		if in != want || !claim.Same(got, c) || !EqualClaims(c, before) || !slices.Equal(l, names) {
+			t.Error(names, ClaimText(got), ClaimText(c), l)
+		}
+	}
+}
+
+func TestTermsOf(t *testing.T) {
+	x, y := Var("x"), App("f", Var("x"))
+	c := Or(And(Pred("p", x, y, x), Within(2, Eq(Bound(0), x))), WithTerms(Not(Pred("p", Num(1))), y))
+	if l := TermsOf(c); !EqualClaims(Pred("", l...), Pred("", x, y, x, Bound(0), x, y, Num(1))) {
+		t.Error(TermTexts(l))
+	}
+	if l := TermsOf(And(True(), False())); len(l) != 0 {
+		t.Error(TermTexts(l))
+	}
+}
+
 func TestWithin(t *testing.T) {
 	if c := Within(0, Pred("p")); !EqualClaims(c, Pred("p")) {
 		t.Error(ClaimText(c))

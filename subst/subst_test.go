@@ -30,7 +30,7 @@ var (
 	equalLists, twin, chain    = sample.EqualPairs, sample.TwinPairs, sample.Chain
 	within, wrongTerms         = sample.Within, sample.WrongTerms
 	hulls, rightHulls          = sample.Hulls, sample.RightHulls
-	listsOf                    = sample.Substitutions
+	listsOf, renamed           = sample.Substitutions, sample.Renamed
 )
 
 type list = []api.Pair
@@ -707,23 +707,8 @@ func TestAnswersShareNoMemory(t *testing.T) {
 		"Rename":     func() sample.Data { return asClaims(Rename(c, "z", "w"), Rename(c, "w", "z")) },
 	}
 	for name, call := range calls {
-		got, want := call(), call()
-		for _, answer := range got.Pairs {
-			sample.SpoilPairs(answer)
-		}
-		for _, answer := range got.Claims {
-			sample.SpoilClaim(answer)
-		}
-		if again := call(); !again.Equal(want) {
-			t.Errorf("%s: a changed answer changed the next one to %s", name, again.Text())
-		}
-		kept := call()
-		sample.SpoilPairs(a)
-		sample.SpoilPairs(m)
-		sample.SpoilTerm(x)
-		sample.SpoilClaim(c)
-		if !kept.Equal(want) {
-			t.Errorf("%s: a changed argument changed %s", name, kept.Text())
+		if said := sample.Tied(call, asLists(a, m).With(asTerms(x)).With(asClaims(c))); said != "" {
+			t.Error(name, said)
 		}
 		a, m, x = l(), l(), app("g", v("x"), app("g", v("y"), v("x")))
 		c = and(p("p", x), forAll("u", "A", p("p", v("x"), v("z"))))
@@ -891,20 +876,6 @@ func TestThenIsOneAfterTheOtherForMore(t *testing.T) {
 // rightTerms tells whether all terms of the lists are right.
 func rightTerms(l ...list) bool {
 	return !slices.ContainsFunc(slices.Concat(l...), func(q api.Pair) bool { return term.Right(q.Term) != api.OK })
-}
-
-// renamed is c with other names of binders.
-func renamed(c api.Claim, names ...string) api.Claim {
-	if c.Op == api.CAll || c.Op == api.CEx {
-		c.Name = names[0]
-		names = append(names[1:], names[0])
-	}
-	subs := slices.Clone(c.Subs)
-	for i := range subs {
-		subs[i] = renamed(subs[i], slices.Clone(names)...)
-	}
-	c.Subs = subs
-	return c
 }
 
 // Claims that are the same up to the names of binders stay the same, and keep those names.
