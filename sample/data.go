@@ -7,10 +7,13 @@ import (
 	"sequitur/api"
 )
 
-// Data are substitutions and claims together: what a call takes, or what it answers.
+// Data are lists of several kinds together: what a call takes, or what it answers.
 type Data struct {
 	Pairs  [][]api.Pair
 	Claims []api.Claim
+	Signs  []api.Sign
+	Vars   [][]api.Var
+	Names  [][]string
 }
 
 // Lists are substitutions as data.
@@ -24,33 +27,48 @@ func Terms(l ...api.Term) Data { return Claims(api.Claim{Terms: l}) }
 
 // With are d and e together.
 func (d Data) With(e Data) Data {
-	return Data{slices.Concat(d.Pairs, e.Pairs), slices.Concat(d.Claims, e.Claims)}
+	return Data{
+		Pairs:  slices.Concat(d.Pairs, e.Pairs),
+		Claims: slices.Concat(d.Claims, e.Claims),
+		Signs:  slices.Concat(d.Signs, e.Signs),
+		Vars:   slices.Concat(d.Vars, e.Vars),
+		Names:  slices.Concat(d.Names, e.Names),
+	}
 }
 
 // Equal tells whether d and e are the same in everything; an empty list may be nil.
 func (d Data) Equal(e Data) bool {
-	return slices.EqualFunc(d.Pairs, e.Pairs, EqualPairs) && slices.EqualFunc(d.Claims, e.Claims, EqualClaims)
+	return slices.EqualFunc(d.Pairs, e.Pairs, EqualPairs) && slices.EqualFunc(d.Claims, e.Claims, EqualClaims) &&
+		slices.EqualFunc(d.Signs, e.Signs, EqualSigns) && slices.EqualFunc(d.Vars, e.Vars, slices.Equal) && slices.EqualFunc(d.Names, e.Names, slices.Equal)
 }
 
 // Text is d without most of what is long.
 func (d Data) Text() string {
+	lists := slices.Concat(twins(d.Pairs, PairsText), twins(d.Signs, SignText), twins(d.Vars, VarsText), twins(d.Names, NamesText))
 	s := ""
-	for _, l := range d.Pairs {
-		s += "[" + PairsText(l) + "] "
+	for _, l := range lists {
+		s += "[" + l + "] "
 	}
 	return s + ClaimTexts(d.Claims)
 }
 
 // Changed calls f and tells what became of d if f changed it, be it from nil to an empty list; nothing if f did not.
 func (d Data) Changed(f func()) string {
-	before := twins(d.Pairs, TwinPairs)
-	said := Changed(f, d.Claims...)
-	return difference(before, d.Pairs, identicalPairs, PairsText) + said
+	before := d.twin()
+	f()
+	return difference(before.Pairs, d.Pairs, identicalPairs, PairsText) +
+		difference(before.Claims, d.Claims, identicalClaims, ClaimText) +
+		difference(before.Signs, d.Signs, identicalSigns, SignText) +
+		difference(before.Vars, d.Vars, identicalElements, VarsText) +
+		difference(before.Names, d.Names, identicalElements, NamesText)
 }
 
 // Shares tells whether a list of d shares memory with another one of d or with one of the arguments, be it behind its end.
 func (d Data) Shares(arguments Data) bool {
-	m := memory{terms: map[*api.Term]bool{}, claims: map[*api.Claim]bool{}, pairs: map[*api.Pair]bool{}}
+	m := memory{
+		terms: map[*api.Term]bool{}, claims: map[*api.Claim]bool{}, pairs: map[*api.Pair]bool{},
+		funs: map[*api.Fun]bool{}, vars: map[*api.Var]bool{}, names: map[*string]bool{},
+	}
 	m.noteData(arguments)
 	m.twice = false
 	m.noteData(d)
@@ -63,6 +81,15 @@ func (m *memory) noteData(d Data) {
 		m.notePairs(l)
 	}
 	m.noteClaims(d.Claims)
+	for _, s := range d.Signs {
+		m.noteSign(s)
+	}
+	for _, l := range d.Vars {
+		m.twice = taken(m.vars, l) || m.twice
+	}
+	for _, l := range d.Names {
+		m.twice = taken(m.names, l) || m.twice
+	}
 }
 
 // Wrong tells what is wrong with a call that is to make want of the arguments: another answer, changed arguments or shared memory; nothing if all is well.
@@ -99,7 +126,13 @@ func WrongBy(call func(names []string) Data, want, arguments Data, names []strin
 
 // twin is d in new memory.
 func (d Data) twin() Data {
-	return Data{twins(d.Pairs, TwinPairs), twins(d.Claims, TwinClaim)}
+	return Data{
+		Pairs:  twins(d.Pairs, TwinPairs),
+		Claims: twins(d.Claims, TwinClaim),
+		Signs:  twins(d.Signs, TwinSign),
+		Vars:   twins(d.Vars, twinElements),
+		Names:  twins(d.Names, twinElements),
+	}
 }
 
 // Spoil changes all lists of d.
@@ -109,6 +142,15 @@ func (d Data) Spoil() {
 	}
 	for _, c := range d.Claims {
 		SpoilClaim(c)
+	}
+	for _, s := range d.Signs {
+		SpoilSign(s)
+	}
+	for _, l := range d.Vars {
+		SpoilVars(l)
+	}
+	for _, l := range d.Names {
+		SpoilNames(l)
 	}
 }
 

@@ -39,8 +39,8 @@ func TwinPairs(l []api.Pair) []api.Pair {
 	return twins(l, func(p api.Pair) api.Pair { return Pair(p.Name, TwinTerm(p.Term)) })
 }
 
-// twins are the elements of l in new memory, nil where l is nil.
-func twins[T any](l []T, twin func(T) T) []T {
+// twins are what twin makes of the elements of l, in new memory, nil where l is nil.
+func twins[S, T any](l []S, twin func(S) T) []T {
 	if l == nil {
 		return nil
 	}
@@ -51,11 +51,14 @@ func twins[T any](l []T, twin func(T) T) []T {
 	return r
 }
 
+// twinElements is l, of elements without lists, in new memory, nil where l is nil.
+func twinElements[T any](l []T) []T {
+	return twins(l, func(x T) T { return x })
+}
+
 // Changed calls f and tells what became of the first claim of l that f changed, be it from nil to an empty list; nothing if f changed none.
 func Changed(f func(), l ...api.Claim) string {
-	before := twins(l, TwinClaim)
-	f()
-	return difference(before, l, identicalClaims, ClaimText)
+	return Claims(l...).Changed(f)
 }
 
 // difference tells what became of the first element that is not the same before and after, nothing if all are.
@@ -84,6 +87,10 @@ func identical[T any](a, b []T, same func(a, b T) bool) bool {
 	return (a == nil) == (b == nil) && slices.EqualFunc(a, b, same)
 }
 
+func identicalElements[T comparable](a, b []T) bool {
+	return identical(a, b, func(x, y T) bool { return x == y })
+}
+
 // Shares tells whether a list within answer shares memory with another one within it or within the arguments, be it behind its end.
 func Shares(answer api.Claim, arguments ...api.Claim) bool {
 	return Data{Claims: []api.Claim{answer}}.Shares(Data{Claims: arguments})
@@ -94,6 +101,9 @@ type memory struct {
 	terms  map[*api.Term]bool
 	claims map[*api.Claim]bool
 	pairs  map[*api.Pair]bool
+	funs   map[*api.Fun]bool
+	vars   map[*api.Var]bool
+	names  map[*string]bool
 	twice  bool
 }
 
@@ -121,6 +131,14 @@ func (m *memory) notePairs(l []api.Pair) {
 	m.twice = taken(m.pairs, l) || m.twice
 	for _, p := range l {
 		m.noteTerms(p.Term.Args)
+	}
+}
+
+func (m *memory) noteSign(s api.Sign) {
+	m.twice = taken(m.names, s.Sorts) || m.twice
+	m.twice = taken(m.funs, s.Funs) || m.twice
+	for _, f := range s.Funs {
+		m.twice = taken(m.names, f.Args) || m.twice
 	}
 }
 
@@ -155,10 +173,18 @@ func SpoilClaim(c api.Claim) {
 	}
 }
 
-// SpoilPairs changes all pairs of l, and all parts of their terms.
+// SpoilPairs changes all pairs of l, all parts of their terms, and what is free behind l.
 func SpoilPairs(l []api.Pair) {
-	for i := range l {
-		SpoilTerm(l[i].Term)
-		l[i] = Pair("spoilt", Num(99))
+	for _, p := range l {
+		SpoilTerm(p.Term)
+	}
+	fill(l, Pair("spoilt", Num(99)))
+}
+
+// fill puts x in place of each element of l, and of those behind its end.
+func fill[T any](l []T, x T) {
+	whole := l[:cap(l)]
+	for i := range whole {
+		whole[i] = x
 	}
 }

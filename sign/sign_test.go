@@ -1,27 +1,28 @@
 package sign
 
 import (
-	"regexp"
 	"slices"
 	"strconv"
 	"strings"
 	"testing"
 
 	"sequitur/api"
+	"sequitur/sample"
 )
 
-// The words of chapter 3, written out once more as it has them.
-const allWords = `true false sort fun pred axiom theorem proof qed as back intro split left right exact assume apply witness cases have contra refl swap prop arith mixed auto congr try loop each skip fail`
-
-func words() []string { return strings.Fields(allWords) }
+// Short names for what the tests are full of.
+var (
+	fn, sg                = sample.Fun, sample.Sign
+	good, bad, words      = sample.Names, sample.NoNames, sample.Words
+	equalFuns, equalSigns = sample.EqualFuns, sample.EqualSigns
+	copyFun, copySign     = sample.TwinFun, sample.TwinSign
+	briefFun, briefSign   = sample.FunText, sample.SignText
+	brief, wantName       = sample.NamesText, sample.Named
+	spoilFun, spoilNames  = sample.SpoilFun, sample.SpoilNames
+	spoil                 = sample.SpoilSign
+)
 
 // What the chapter says, word by word, with nothing of the package in it.
-
-var nameRule = regexp.MustCompile(`^[A-Za-z_][A-Za-z0-9_']{0,31}$`)
-
-func wantName(s string) bool {
-	return nameRule.MatchString(s) && !slices.Contains(words(), s)
-}
 
 func wantKnown(l []api.Sort, s api.Sort) bool {
 	return s == "Bool" || s == "Int" || slices.Contains(l, s)
@@ -132,77 +133,11 @@ func wantConsts(s api.Sign, of api.Sort) []string {
 	return l
 }
 
-func equalLists(a, b []string) bool {
-	if len(a) != len(b) {
-		return false
-	}
-	for i := range a {
-		if a[i] != b[i] {
-			return false
-		}
-	}
-	return true
-}
-
-func equalFuns(f, g api.Fun) bool {
-	return f.Name == g.Name && f.Res == g.Res && equalLists(f.Args, g.Args)
-}
-
-func equalSigns(a, b api.Sign) bool {
-	if !equalLists(a.Sorts, b.Sorts) || len(a.Funs) != len(b.Funs) {
-		return false
-	}
-	for i := range a.Funs {
-		if !equalFuns(a.Funs[i], b.Funs[i]) {
-			return false
-		}
-	}
-	return true
-}
-
-func copyFun(f api.Fun) api.Fun {
-	return api.Fun{Name: f.Name, Args: append([]api.Sort(nil), f.Args...), Res: f.Res}
-}
-
-func copySign(s api.Sign) api.Sign {
-	c := api.Sign{Sorts: append([]api.Sort(nil), s.Sorts...)}
-	for _, f := range s.Funs {
-		c.Funs = append(c.Funs, copyFun(f))
-	}
-	return c
-}
-
-// brief keeps long texts and lists out of the messages.
-func brief(l []string) string {
-	if len(l) <= 8 {
-		t := strconv.Quote(strings.Join(l, " "))
-		return t[:min(len(t), 200)]
-	}
-	return strconv.Itoa(len(l)) + " names from " + strconv.Quote(l[0]) + " to " + strconv.Quote(l[len(l)-1])
-}
-
-func briefFun(f api.Fun) string {
-	return brief([]string{f.Name}) + ": " + brief(f.Args) + " -> " + brief([]string{f.Res})
-}
-
-func briefSign(s api.Sign) string {
-	if len(s.Funs) > 4 {
-		return brief(s.Sorts) + ", " + strconv.Itoa(len(s.Funs)) + " functions from " + briefFun(s.Funs[0]) + " to " + briefFun(s.Funs[len(s.Funs)-1])
-	}
-	t := brief(s.Sorts)
-	for _, f := range s.Funs {
-		t += ", " + briefFun(f)
-	}
-	return t
-}
-
 // unchanged calls f and holds s against what it was ahead of the call.
 func unchanged(t *testing.T, s api.Sign, f func()) {
 	t.Helper()
-	before := copySign(s)
-	f()
-	if !equalSigns(s, before) {
-		t.Errorf("%s became %s", briefSign(before), briefSign(s))
+	if said := (sample.Data{Signs: []api.Sign{s}}).Changed(f); said != "" {
+		t.Error(said)
 	}
 }
 
@@ -281,20 +216,10 @@ func checkConsts(t *testing.T, s api.Sign, of api.Sort, want []string) {
 	t.Helper()
 	unchanged(t, s, func() {
 		t.Helper()
-		if got := Consts(s, of); !equalLists(got, want) {
+		if got := Consts(s, of); !slices.Equal(got, want) {
 			t.Errorf("Consts(%s, %s) is %s; want %s", briefSign(s), brief([]string{of}), brief(got), brief(want))
 		}
 	})
-}
-
-// fn is the function with that name, args (with blanks in between) and result.
-func fn(name, args string, res api.Sort) api.Fun {
-	return api.Fun{Name: name, Args: strings.Fields(args), Res: res}
-}
-
-// sg is the signature of the sorts l (with blanks in between) and the functions.
-func sg(l string, funs ...api.Fun) api.Sign {
-	return api.Sign{Sorts: strings.Fields(l), Funs: funs}
 }
 
 // many is a signature of the sorts A and B and n functions with different names, valid if they are not too many.
@@ -326,21 +251,6 @@ func with(s api.Sign, i int, f api.Fun) api.Sign {
 func plus(s api.Sign, funs ...api.Fun) api.Sign {
 	s.Funs = slices.Concat(s.Funs, funs)
 	return s
-}
-
-// good are names that a function may have, all different.
-func good() []string {
-	return []string{
-		"f", "F", "z", "Z", "_", "__", "_0", "f1", "f_1", "f'", "f''1'", "_'", "aZ09_'", "bool", "int", "Bool", "Int", "Sort", "TRUE", "sorts", "tru", "Fail", "qed'", "open", "hyp", "of", "Bool'",
-		strings.Repeat("a", 31), strings.Repeat("a", 32), "_" + strings.Repeat("'", 31), "f" + strings.Repeat("0", 31),
-	}
-}
-
-// bad are texts that no function and no sort may have as its name, all different.
-func bad() []string {
-	return append(words(), "", " ", "\n", "1", "1f", "007", "'", "'f", "f g", " f", "f ", "f\n", "\tf", "f#", "#f", "f.g", "f,", "(f)", "-", "->", "$", "f$", "f-g", "\x00", "f\x00", "\x7f", "f\x7f", "\x80", "f\xff",
-		"\xff\xfe", "ä", "fä", "é'", "f²", "x٣", "∀", "\u00a0", "f\u00a0", "\ufefff", "true ", " sort", "Bool ", " Int",
-		strings.Repeat("a", 33), "_"+strings.Repeat("'", 32), strings.Repeat("a", 32)+" ", strings.Repeat("a", 32)+"ä", strings.Repeat("f", api.MaxText), strings.Repeat("f", api.MaxText+1))
 }
 
 // strange are sorts that no signature of the tests has, and texts that are no names.
@@ -873,27 +783,6 @@ func TestConstsOfWrongSignatures(t *testing.T) {
 	checkConsts(t, s, "true", nil)
 }
 
-// spoil writes over all that can be reached from s, and behind each of its lists.
-func spoil(s api.Sign) {
-	for i := range s.Funs {
-		spoilFun(&s.Funs[i])
-	}
-	_ = append(s.Funs, fn("spoilt", "spoilt", "spoilt"))
-	spoilNames(s.Sorts)
-}
-
-func spoilFun(f *api.Fun) {
-	spoilNames(f.Args)
-	f.Name, f.Res = "spoilt", "spoilt"
-}
-
-func spoilNames(l []string) {
-	for i := range l {
-		l[i] = "spoilt"
-	}
-	_ = append(l, "spoilt", "spoilt")
-}
-
 // roomy is s in memory of its own with free elements behind each of its lists; the second result tells whether one of them was written to.
 func roomy(s api.Sign) (api.Sign, func() bool) {
 	names := func(l []string) []string {
@@ -1011,7 +900,7 @@ func TestWhatIsFoundSharesNoMemory(t *testing.T) {
 		want := wantConsts(s, of)
 		l, m := Consts(s, of), Consts(s, of)
 		spoilNames(l)
-		if !equalLists(m, want) || !equalSigns(s, many(8)) || !equalLists(Consts(s, of), want) {
+		if !slices.Equal(m, want) || !equalSigns(s, many(8)) || !slices.Equal(Consts(s, of), want) {
 			t.Errorf("a changed result changed %s or %s", briefSign(s), brief(m))
 		}
 	}
@@ -1080,11 +969,11 @@ func checkGrown(t *testing.T, before, after api.Sign) {
 	}
 	for _, of := range append([]api.Sort{"Bool", "Int"}, before.Sorts...) {
 		old, l := Consts(before, of), Consts(after, of)
-		if len(l) < len(old) || !equalLists(l[:len(old)], old) || len(l) > len(old)+1 {
+		if len(l) < len(old) || !slices.Equal(l[:len(old)], old) || len(l) > len(old)+1 {
 			t.Errorf("the constants of %s are %s, and %s with one more in %s", of, brief(old), brief(l), briefSign(after))
 		}
 	}
-	if !equalLists(after.Sorts[:len(before.Sorts)], before.Sorts) || !equalSigns(api.Sign{Funs: after.Funs[:len(before.Funs)]}, api.Sign{Funs: before.Funs}) {
+	if !slices.Equal(after.Sorts[:len(before.Sorts)], before.Sorts) || !equalSigns(api.Sign{Funs: after.Funs[:len(before.Funs)]}, api.Sign{Funs: before.Funs}) {
 		t.Errorf("%s became %s", briefSign(before), briefSign(after))
 	}
 	checkSame(t, before, after, false)

@@ -1,26 +1,22 @@
 package sorts
 
 import (
-	"regexp"
 	"slices"
 	"strconv"
 	"strings"
 	"testing"
 
 	"sequitur/api"
+	"sequitur/sample"
 )
 
-// The words of chapter 3, written out once more as it has them.
-const allWords = `true false sort fun pred axiom theorem proof qed as back intro split left right exact assume apply witness cases have contra refl swap prop arith mixed auto congr try loop each skip fail`
-
-func words() []string { return strings.Fields(allWords) }
+// brief keeps a long list out of the messages.
+var brief = sample.NamesText
 
 // What the chapter says, word by word, with nothing of the package in it.
 
-var nameRule = regexp.MustCompile(`^[A-Za-z_][A-Za-z0-9_']{0,31}$`)
-
 func wantValid(s api.Sort) bool {
-	return nameRule.MatchString(s) && !slices.Contains(words(), s) && s != "Bool" && s != "Int"
+	return sample.Named(s) && s != "Bool" && s != "Int"
 }
 
 func wantRight(l []api.Sort) api.Errno {
@@ -70,14 +66,6 @@ func wantPut(l []api.Sort, s api.Sort) ([]api.Sort, api.Errno) {
 		return nil, api.ErrLong
 	}
 	return append(wantAll(l)[2:], s), api.OK
-}
-
-// brief keeps a long list out of the messages.
-func brief(l []api.Sort) string {
-	if len(l) <= 8 {
-		return strconv.Quote(strings.Join(l, " "))
-	}
-	return strconv.Itoa(len(l)) + " sorts from " + strconv.Quote(l[0]) + " to " + strconv.Quote(l[len(l)-1])
 }
 
 func checkRight(t *testing.T, l []api.Sort, want api.Errno) {
@@ -147,18 +135,11 @@ func with(l []api.Sort, i int, s api.Sort) []api.Sort {
 
 // good are valid names, all different.
 func good() []api.Sort {
-	return []api.Sort{
-		"A", "B", "a", "z", "Z", "_", "__", "_0", "A1", "A_1", "b'", "A''1'", "_'", "aZ09_'", "bool", "int", "BOOL", "INT", "Bools", "Int'", "xInt", "_Bool", "Sort", "TRUE", "sorts", "tru",
-		"open", "hyp", "of", strings.Repeat("a", 31), strings.Repeat("a", 32), "_" + strings.Repeat("'", 31), "S" + strings.Repeat("0", 31),
-	}
+	return append(slices.DeleteFunc(sample.Names(), func(s string) bool { return s == "Bool" || s == "Int" }), "A", "B", "a", "A''1'")
 }
 
 // bad are texts that are no valid names, all different.
-func bad() []api.Sort {
-	return append(words(), "Bool", "Int", "", " ", "\n", "1", "1A", "007", "'", "'A", "A B", " A", "A ", "A\n", "\tA", "A#", "#A", "A.B", "A,", "(A)", "-", "->", "$", "A$", "A-B", "\x00", "A\x00", "\x7f", "A\x7f",
-		"\x80", "A\xff", "\xff\xfe", "ä", "Aä", "é'", "A²", "x٣", "∀", "\u00a0", "A\u00a0", "\ufeffA", "Bool ", " Int", "Int\n", "Bool\x00", "true ", " sort",
-		strings.Repeat("a", 33), "_"+strings.Repeat("'", 32), strings.Repeat("a", 32)+" ", strings.Repeat("a", 32)+"ä", strings.Repeat("A", api.MaxText), strings.Repeat("A", api.MaxText+1))
-}
+func bad() []api.Sort { return append(sample.NoNames(), "Bool", "Int") }
 
 // mixed are texts of which any two lists of the tests below are made: good and bad ones, and what is always known.
 func mixed() []api.Sort {
@@ -229,7 +210,7 @@ func TestRightOfWrongNames(t *testing.T) {
 		checkRight(t, []api.Sort{s, "A"}, api.ErrName)
 		checkRight(t, append(many(63), s), api.ErrName)
 	}
-	if n := len(words()); n != 34 {
+	if n := len(sample.Words()); n != 34 {
 		t.Error(n, "words")
 	}
 }

@@ -7,13 +7,11 @@ import (
 	"testing"
 
 	"sequitur/api"
+	"sequitur/sample"
 )
 
-// The lists of the chapter, written out once more as it has them.
-const (
-	allSigns = `( ) [ ] { } , . : ; = := <= < >= > + - * ~ & | -> <-> |- ! ?`
-	allWords = `true false sort fun pred axiom theorem proof qed as back intro split left right exact assume apply witness cases have contra refl swap prop arith mixed auto congr try loop each skip fail`
-)
+// The signs of the chapter, written out once more as it has them.
+const allSigns = `( ) [ ] { } , . : ; = := <= < >= > + - * ~ & | -> <-> |- ! ?`
 
 func signs() []string { return strings.Fields(allSigns) }
 
@@ -107,7 +105,7 @@ func each(most int, parts []string, f func(s string)) {
 
 // scattered calls f with longer texts whose parts a fixed rule picks.
 func scattered(f func(s string)) {
-	parts := append(signs(), strings.Fields(allWords)...)
+	parts := append(signs(), sample.Words()...)
 	parts = append(parts, " ", " ", "\n", "\n", "\t", "\r", "#", "# a b\n", "#$\n", "x", "y'", "_", "h12", "A", "0", "07", "99999999999999999999",
 		strings.Repeat("n", 31), strings.Repeat("n", 32), "'", "$", "\x00", "\xc3", "ä", "\f")
 	x := uint64(88172645463325252)
@@ -412,7 +410,7 @@ func TestNameIsOneToken(t *testing.T) {
 }
 
 func TestWord(t *testing.T) {
-	words := strings.Fields(allWords)
+	words := sample.Words()
 	if len(words) != 34 {
 		t.Fatal(len(words))
 	}
@@ -443,7 +441,7 @@ func TestShortWords(t *testing.T) {
 			got = append(got, s)
 		}
 	})
-	for _, w := range strings.Fields(allWords) {
+	for _, w := range sample.Words() {
 		if len(w) <= 4 {
 			want = append(want, w)
 		}
@@ -457,7 +455,7 @@ func TestShortWords(t *testing.T) {
 
 // Words are tokens as other names are.
 func TestWordsAreNames(t *testing.T) {
-	for _, w := range strings.Fields(allWords) {
+	for _, w := range sample.Words() {
 		if !Name(w) {
 			t.Errorf("%q is a name", w)
 		}
