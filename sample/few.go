@@ -82,3 +82,14 @@ func Substitutions(n int, names []string, terms []api.Term) [][]api.Pair {
 	}
 	return all
 }
+
+// Scattered returns numbers below n by a fixed rule, others for each seed but 0.
+func Scattered(seed uint64) func(n int) int {
+	x := seed
+	return func(n int) int {
+		x ^= x << 13
+		x ^= x >> 7
+		x ^= x << 17
+		return int(x>>11) % n
+	}
+}

@@ -339,3 +339,24 @@ func TestSubstitutions(t *testing.T) {
 		t.Error(len(l))
 	}
 }
+
+func TestScattered(t *testing.T) {
+	for _, seed := range []uint64{1, 12, 1 << 63, 88172645463325252} {
+		next, again, other := Scattered(seed), Scattered(seed), Scattered(seed+1)
+		found, same := map[int]int{}, 0
+		for range 8000 {
+			n, o := next(8), other(8)
+			if n != again(8) {
+				t.Error("not the same each time")
+			}
+			if found[n]++; n == o {
+				same++
+			}
+		}
+		for n := range 8 {
+			if found[n] < 800 || len(found) > 8 || same > 2000 {
+				t.Error(seed, found, same)
+			}
+		}
+	}
+}

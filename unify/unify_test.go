@@ -816,14 +816,6 @@ func TestTermsFollowTheChapter(t *testing.T) {
 	enough(t, found, 400)
 }
 
-// scattered answers numbers below n that look like chance, the same each time.
-func scattered(seed uint64) func(n int) int {
-	return func(n int) int {
-		seed = seed*6364136223846793005 + 1442695040888963407
-		return int(seed>>33) % n
-	}
-}
-
 // scatteredTerm is a right term of at most that depth.
 func scatteredTerm(next func(n int) int, depth int) api.Term {
 	if depth == 1 || next(4) == 0 {
@@ -839,7 +831,7 @@ func scatteredTerm(next func(n int) int, depth int) api.Term {
 // Longer lists of greater terms with more variables.
 func TestScatteredTermsFollowTheChapter(t *testing.T) {
 	found := map[api.Errno]int{}
-	next := scattered(12)
+	next := sample.Scattered(12)
 	for range 20000 {
 		var a, b terms
 		for range 1 + next(5) {

@@ -1221,21 +1221,10 @@ func TestPartsThatShareMemory(t *testing.T) {
 	checkBoth(args[0], subs[0], api.ErrDeep)
 }
 
-// scattered returns numbers below n by a fixed rule.
-func scattered(seed uint64) func(n int) int {
-	x := seed
-	return func(n int) int {
-		x ^= x << 13
-		x ^= x >> 7
-		x ^= x << 17
-		return int(x>>11) % n
-	}
-}
-
 // Whatever the lists and the parts are, the calls end and follow the chapter.
 func TestScatteredFollowTheChapter(t *testing.T) {
 	found := map[api.Errno]int{}
-	next := scattered(88172645463325252)
+	next := sample.Scattered(88172645463325252)
 	sorts := []api.Sort{"A", "B", "Int", "A", "B", "Int", "Bool", "C"}
 	texts := []string{"x", "y", "f", "g", "p", "c"}
 	sort := func() api.Sort { return sorts[next(len(sorts))] }
