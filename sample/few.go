@@ -93,3 +93,21 @@ func Scattered(seed uint64) func(n int) int {
 		return int(x>>11) % n
 	}
 }
+
+// Fillings put terms in place of none, some or all of the variables, in every way in which a variable gets one of the terms of its sort.
+func Fillings(vars []api.Var, terms map[api.Sort][]api.Term) [][]api.Pair {
+	all := [][]api.Pair{nil}
+	for _, v := range vars {
+		for _, l := range slices.Clone(all) {
+			for _, t := range terms[v.Sort] {
+				all = append(all, append(slices.Clip(l), Pair(v.Name, t)))
+			}
+		}
+	}
+	return all
+}
+
+// Rare are the errors that were found less often than that.
+func Rare(found map[api.Errno]int, least int, errors ...api.Errno) []api.Errno {
+	return slices.DeleteFunc(slices.Clone(errors), func(e api.Errno) bool { return found[e] >= least })
+}

@@ -188,3 +188,6 @@ func fill[T any](l []T, x T) {
 		whole[i] = x
 	}
 }
+
+// Roomy is l in memory of its own with room behind it, in which x stands.
+func Roomy[T any](l []T, x T) []T { return append(slices.Clone(l), x, x, x)[:len(l)] }

@@ -360,3 +360,72 @@ func TestScattered(t *testing.T) {
 		}
 	}
 }
+
+// What is made is right, no deeper than it may be, of what it may be made of, and of every kind.
+func TestWild(t *testing.T) {
+	wild := Wild{Pick: Scattered(7), Vars: []string{"x", "y"}, Funs: []string{"f", "g"}, Sorts: []api.Sort{"A", "B"}, Nums: []int64{3, -4}, Bounds: 2}
+	terms, claims, names := map[int]int{}, map[int]int{}, map[string]int{}
+	for i := range 4000 {
+		d := i % 4
+		x, c := wild.Term(d), wild.Claim(d)
+		for _, p := range term.Parts(x) {
+			terms[p.Op]++
+			names[p.Name]++
+		}
+		claims[c.Op]++
+		names[c.Name]++
+		names[c.Sort]++
+		if term.Right(x) != api.OK || term.Depth(x) > d+1 || claim.Right(c) != api.OK || claim.Depth(c) > d+1 {
+			t.Error(d, TermText(x), ClaimText(c))
+		}
+	}
+	for op := 1; op <= 8; op++ {
+		if terms[op] < 100 || claims[op+2] < 100 || claims[op+4] < 100 {
+			t.Error(op, terms, claims)
+		}
+	}
+	if len(terms) != 8 || len(claims) != 10 || len(names) != 7 {
+		t.Error(terms, claims, names)
+	}
+}
+
+func TestFillings(t *testing.T) {
+	all := Fillings(Free("x A, y B, z C, u A"), map[api.Sort][]api.Term{"A": {Num(1), Num(2)}, "B": {Var("v")}})
+	seen := map[string]bool{}
+	for _, l := range all {
+		seen[PairsText(l)] = true
+	}
+	if len(all) != 3*2*3 || len(seen) != len(all) {
+		t.Error(len(all), len(seen))
+	}
+	for _, l := range [][]api.Pair{nil, {Pair("x", Num(2))}, {Pair("y", Var("v")), Pair("u", Num(1))}, {Pair("x", Num(1)), Pair("y", Var("v")), Pair("u", Num(2))}} {
+		if !seen[PairsText(l)] {
+			t.Error(PairsText(l))
+		}
+	}
+	if l := Fillings(nil, nil); len(l) != 1 || len(l[0]) != 0 {
+		t.Error(len(l))
+	}
+}
+
+func TestRare(t *testing.T) {
+	found := map[api.Errno]int{api.OK: 3, api.ErrArg: 2, api.ErrLong: 1}
+	if l := Rare(found, 2, api.OK, api.ErrLong, api.ErrArg, api.ErrNone); !slices.Equal(l, []api.Errno{api.ErrLong, api.ErrNone}) {
+		t.Error(l)
+	}
+	if l := Rare(found, 1, api.OK, api.ErrArg); len(l) != 0 {
+		t.Error(l)
+	}
+}
+
+func TestRoomy(t *testing.T) {
+	l := []int{1, 2, 3}
+	room := Roomy(l[:2], 9)
+	if !slices.Equal(room, l[:2]) || !slices.Equal(room[:5], []int{1, 2, 9, 9, 9}) || l[2] != 3 {
+		t.Error(room[:5], l)
+	}
+	room[0] = 7
+	if l[0] != 1 || len(Roomy([]int(nil), 9)) != 0 {
+		t.Error(l)
+	}
+}

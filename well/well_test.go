@@ -250,10 +250,8 @@ func TestVarsFollowTheChapter(t *testing.T) {
 // enough reports errors of which too few were found.
 func enough(t *testing.T, found map[api.Errno]int, least int, errors ...api.Errno) {
 	t.Helper()
-	for _, e := range errors {
-		if found[e] < least {
-			t.Error("too few of", e, found)
-		}
+	if rare := sample.Rare(found, least, errors...); len(rare) > 0 {
+		t.Error("too few of", rare, found)
 	}
 }
 
@@ -866,27 +864,14 @@ func TestClaimsFollowTheChapter(t *testing.T) {
 
 // Promise 13.4.
 
-// termsOfSort are terms of that sort in the usual setting.
-func termsOfSort(sort api.Sort) []api.Term {
+// substitutions are substitutions of the variables x, z and i by terms of the same sorts, of none, some or all of them.
+func substitutions() [][]api.Pair {
 	x, z, i := v("x"), v("z"), v("i")
-	return map[api.Sort][]api.Term{
+	return sample.Fillings(free("i Int, x A, z B"), map[api.Sort][]api.Term{
 		"A":   {x, v("y"), app("c"), app("f", app("f", x))},
 		"B":   {z, app("d"), app("g", x, z)},
 		"Int": {i, num(-3), add(i, v("j")), mul(2, app("h", x, i, z))},
-	}[sort]
-}
-
-// substitutions are substitutions of the variables x, z and i by terms of the same sorts, of none, some or all of them.
-func substitutions() [][]api.Pair {
-	all := [][]api.Pair{nil}
-	for _, x := range free("i Int, x A, z B") {
-		for _, l := range slices.Clone(all) {
-			for _, a := range termsOfSort(x.Sort) {
-				all = append(all, append(slices.Clip(l), sample.Pair(x.Name, a)))
-			}
-		}
-	}
-	return all
+	})
 }
 
 // Terms of the same sorts in place of variables keep the sort of a term, and leave a claim well sorted.
@@ -1041,7 +1026,7 @@ func TestAnswersShareNoMemory(t *testing.T) {
 func TestPathsShareNoEnds(t *testing.T) {
 	for n := range 20 {
 		for room := range 5 {
-			at := roomy(make(path, n), -7)[: n : n+min(room, 3)]
+			at := sample.Roomy(make(path, n), -7)[: n : n+min(room, 3)]
 			one, other := below(at, 1), below(at, 2)
 			if more := below(one, 3); !slices.Equal(one, to(at, 1)) || !slices.Equal(other, to(at, 2)) || !slices.Equal(more, to(at, 1, 3)) || !slices.Equal(at[:n+min(room, 3)], to(make(path, n), slices.Repeat(path{-7}, min(room, 3))...)) {
 				t.Error(n, room, one, other, more)
@@ -1050,17 +1035,14 @@ func TestPathsShareNoEnds(t *testing.T) {
 	}
 }
 
-// roomy is l in memory of its own with a free element x behind it.
-func roomy[T any](l []T, x T) []T { return append(slices.Clone(l), x, x, x)[:len(l)] }
-
 // Nothing is written behind the lists of an argument.
 func TestRoomBehindLists(t *testing.T) {
 	in := usual()
-	in.sign.Sorts, in.vars = roomy(in.sign.Sorts, "free"), roomy(in.vars, api.Var{Name: "free"})
-	in.sign.Funs = roomy(in.sign.Funs, api.Fun{Name: "free"})
-	in.binders = roomy([]api.Sort{"A", "Int"}, "free")
-	args := roomy([]api.Term{v("x"), b(0), v("z")}, v("free"))
-	subs := roomy([]api.Claim{forAll("u", "A", forAll("u", "B", p("p", b(0)))), forAll("u", "Int", forAll("u", "A", p("p", v("x"))))}, p("free"))
+	in.sign.Sorts, in.vars = sample.Roomy(in.sign.Sorts, "free"), sample.Roomy(in.vars, api.Var{Name: "free"})
+	in.sign.Funs = sample.Roomy(in.sign.Funs, api.Fun{Name: "free"})
+	in.binders = sample.Roomy([]api.Sort{"A", "Int"}, "free")
+	args := sample.Roomy([]api.Term{v("x"), b(0), v("z")}, v("free"))
+	subs := sample.Roomy([]api.Claim{forAll("u", "A", forAll("u", "B", p("p", b(0)))), forAll("u", "Int", forAll("u", "A", p("p", v("x"))))}, p("free"))
 	for n := range 4 {
 		a := api.Term{Op: api.TApp, Name: "h", Args: args[:n]}
 		followTerm(t, in, a)
@@ -1224,67 +1206,23 @@ func TestPartsThatShareMemory(t *testing.T) {
 // Whatever the lists and the parts are, the calls end and follow the chapter.
 func TestScatteredFollowTheChapter(t *testing.T) {
 	found := map[api.Errno]int{}
-	next := sample.Scattered(88172645463325252)
-	sorts := []api.Sort{"A", "B", "Int", "A", "B", "Int", "Bool", "C"}
 	texts := []string{"x", "y", "f", "g", "p", "c"}
-	sort := func() api.Sort { return sorts[next(len(sorts))] }
-	name := func() string { return texts[next(len(texts))] }
-	var aTerm func(depth int) api.Term
-	terms := func(n, depth int) []api.Term {
-		var l []api.Term
-		for range n {
-			l = append(l, aTerm(depth))
-		}
-		return l
-	}
-	aTerm = func(depth int) api.Term {
-		op := 1 + next(8)
-		if depth == 0 {
-			op = 1 + next(4)
-		}
-		switch op {
-		case 1:
-			return v(name())
-		case 2:
-			return b(int64(next(3)))
-		case 4:
-			return num(int64(next(9)))
-		case 5, 6:
-			return api.Term{Op: op, Args: terms(2, depth-1)}
-		case 7, 8:
-			return api.Term{Op: op, Args: terms(1, depth-1)}
-		}
-		return app(name(), terms(min(next(3), depth), depth-1)...)
-	}
-	var aClaim func(depth int) api.Claim
-	aClaim = func(depth int) api.Claim {
-		switch op := 3 + next(10); {
-		case op == 3 || depth == 0:
-			return p(name(), terms(next(3), 1)...)
-		case op < 6:
-			return api.Claim{Op: op, Terms: terms(2, 1)}
-		case op == 6:
-			return not(aClaim(depth - 1))
-		case op < 11:
-			return made(op, aClaim(depth-1), aClaim(depth-1))
-		default:
-			return api.Claim{Op: op, Name: name(), Sort: sort(), Subs: []api.Claim{aClaim(depth - 1)}}
-		}
-	}
+	next := sample.Scattered(88172645463325252)
+	wild := sample.Wild{Pick: next, Vars: texts, Funs: texts, Sorts: []api.Sort{"A", "B", "Int", "A", "B", "Int", "Bool", "C"}, Nums: []int64{0, 1, 8}, Bounds: 3}
 	for range 20000 {
 		in := setting{sign: sg("A B")}
 		for range next(8) {
-			f := api.Fun{Name: name(), Res: sort()}
+			f := api.Fun{Name: wild.Fun(), Res: wild.Sort()}
 			for range next(3) {
-				f.Args = append(f.Args, sort())
+				f.Args = append(f.Args, wild.Sort())
 			}
 			in.sign.Funs = append(in.sign.Funs, f)
 		}
 		for range next(5) {
-			in.vars, in.binders = append(in.vars, api.Var{Name: name(), Sort: sort()}), append(in.binders, sort())
+			in.vars, in.binders = append(in.vars, api.Var{Name: wild.Var(), Sort: wild.Sort()}), append(in.binders, wild.Sort())
 		}
-		found[followTerm(t, in, aTerm(2)).e]++
-		found[followClaim(t, in, aClaim(3)).e]++
+		found[followTerm(t, in, wild.Term(2)).e]++
+		found[followClaim(t, in, wild.Claim(3)).e]++
 	}
 	enough(t, found, 500, api.OK, api.ErrName, api.ErrBound, api.ErrArity, api.ErrSort)
 }
