@@ -9,11 +9,13 @@ import (
 
 // Data are lists of several kinds together: what a call takes, or what it answers.
 type Data struct {
-	Pairs  [][]api.Pair
-	Claims []api.Claim
-	Signs  []api.Sign
-	Vars   [][]api.Var
-	Names  [][]string
+	Pairs   [][]api.Pair
+	Claims  []api.Claim
+	Signs   []api.Sign
+	Vars    [][]api.Var
+	Names   [][]string
+	Clauses [][]int
+	Values  [][]bool
 }
 
 // Lists are substitutions as data.
@@ -28,23 +30,26 @@ func Terms(l ...api.Term) Data { return Claims(api.Claim{Terms: l}) }
 // With are d and e together.
 func (d Data) With(e Data) Data {
 	return Data{
-		Pairs:  slices.Concat(d.Pairs, e.Pairs),
-		Claims: slices.Concat(d.Claims, e.Claims),
-		Signs:  slices.Concat(d.Signs, e.Signs),
-		Vars:   slices.Concat(d.Vars, e.Vars),
-		Names:  slices.Concat(d.Names, e.Names),
+		Pairs:   slices.Concat(d.Pairs, e.Pairs),
+		Claims:  slices.Concat(d.Claims, e.Claims),
+		Signs:   slices.Concat(d.Signs, e.Signs),
+		Vars:    slices.Concat(d.Vars, e.Vars),
+		Names:   slices.Concat(d.Names, e.Names),
+		Clauses: slices.Concat(d.Clauses, e.Clauses),
+		Values:  slices.Concat(d.Values, e.Values),
 	}
 }
 
 // Equal tells whether d and e are the same in everything; an empty list may be nil.
 func (d Data) Equal(e Data) bool {
 	return slices.EqualFunc(d.Pairs, e.Pairs, EqualPairs) && slices.EqualFunc(d.Claims, e.Claims, EqualClaims) &&
-		slices.EqualFunc(d.Signs, e.Signs, EqualSigns) && slices.EqualFunc(d.Vars, e.Vars, slices.Equal) && slices.EqualFunc(d.Names, e.Names, slices.Equal)
+		slices.EqualFunc(d.Signs, e.Signs, EqualSigns) && slices.EqualFunc(d.Vars, e.Vars, slices.Equal) && slices.EqualFunc(d.Names, e.Names, slices.Equal) &&
+		slices.EqualFunc(d.Clauses, e.Clauses, slices.Equal) && slices.EqualFunc(d.Values, e.Values, slices.Equal)
 }
 
 // Text is d without most of what is long.
 func (d Data) Text() string {
-	lists := slices.Concat(twins(d.Pairs, PairsText), twins(d.Signs, SignText), twins(d.Vars, VarsText), twins(d.Names, NamesText))
+	lists := slices.Concat(twins(d.Pairs, PairsText), twins(d.Signs, SignText), twins(d.Vars, VarsText), twins(d.Names, NamesText), twins(d.Clauses, ClauseText), twins(d.Values, ValuesText))
 	s := ""
 	for _, l := range lists {
 		s += "[" + l + "] "
@@ -60,7 +65,9 @@ func (d Data) Changed(f func()) string {
 		difference(before.Claims, d.Claims, identicalClaims, ClaimText) +
 		difference(before.Signs, d.Signs, identicalSigns, SignText) +
 		difference(before.Vars, d.Vars, identicalElements, VarsText) +
-		difference(before.Names, d.Names, identicalElements, NamesText)
+		difference(before.Names, d.Names, identicalElements, NamesText) +
+		difference(before.Clauses, d.Clauses, identicalElements, ClauseText) +
+		difference(before.Values, d.Values, identicalElements, ValuesText)
 }
 
 // Shares tells whether a list of d shares memory with another one of d or with one of the arguments, be it behind its end.
@@ -68,6 +75,7 @@ func (d Data) Shares(arguments Data) bool {
 	m := memory{
 		terms: map[*api.Term]bool{}, claims: map[*api.Claim]bool{}, pairs: map[*api.Pair]bool{},
 		funs: map[*api.Fun]bool{}, vars: map[*api.Var]bool{}, names: map[*string]bool{},
+		numbers: map[*int]bool{}, values: map[*bool]bool{},
 	}
 	m.noteData(arguments)
 	m.twice = false
@@ -89,6 +97,12 @@ func (m *memory) noteData(d Data) {
 	}
 	for _, l := range d.Names {
 		m.twice = taken(m.names, l) || m.twice
+	}
+	for _, l := range d.Clauses {
+		m.twice = taken(m.numbers, l) || m.twice
+	}
+	for _, l := range d.Values {
+		m.twice = taken(m.values, l) || m.twice
 	}
 }
 
@@ -127,11 +141,13 @@ func WrongBy(call func(names []string) Data, want, arguments Data, names []strin
 // twin is d in new memory.
 func (d Data) twin() Data {
 	return Data{
-		Pairs:  twins(d.Pairs, TwinPairs),
-		Claims: twins(d.Claims, TwinClaim),
-		Signs:  twins(d.Signs, TwinSign),
-		Vars:   twins(d.Vars, twinElements),
-		Names:  twins(d.Names, twinElements),
+		Pairs:   twins(d.Pairs, TwinPairs),
+		Claims:  twins(d.Claims, TwinClaim),
+		Signs:   twins(d.Signs, TwinSign),
+		Vars:    twins(d.Vars, twinElements),
+		Names:   twins(d.Names, twinElements),
+		Clauses: twins(d.Clauses, twinElements),
+		Values:  twins(d.Values, twinElements),
 	}
 }
 
@@ -151,6 +167,12 @@ func (d Data) Spoil() {
 	}
 	for _, l := range d.Names {
 		SpoilNames(l)
+	}
+	for _, l := range d.Clauses {
+		SpoilClause(l)
+	}
+	for _, l := range d.Values {
+		SpoilValues(l)
 	}
 }
 

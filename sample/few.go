@@ -67,20 +67,13 @@ func WrongTerms() map[api.Errno]api.Term {
 
 // Substitutions are all lists of at most n pairs of the names and the terms, right and wrong ones.
 func Substitutions(n int, names []string, terms []api.Term) [][]api.Pair {
-	all := [][]api.Pair{nil}
-	last := all
-	for range n {
-		var longer [][]api.Pair
-		for _, l := range last {
-			for _, name := range names {
-				for _, t := range terms {
-					longer = append(longer, append(slices.Clip(l), Pair(name, t)))
-				}
-			}
+	var pairs []api.Pair
+	for _, name := range names {
+		for _, t := range terms {
+			pairs = append(pairs, Pair(name, t))
 		}
-		all, last = append(all, longer...), longer
 	}
-	return all
+	return Choices(n, pairs...)
 }
 
 // Scattered returns numbers below n by a fixed rule, others for each seed but 0.

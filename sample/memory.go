@@ -98,13 +98,15 @@ func Shares(answer api.Claim, arguments ...api.Claim) bool {
 
 // memory are places that are taken, and whether one of them was taken twice.
 type memory struct {
-	terms  map[*api.Term]bool
-	claims map[*api.Claim]bool
-	pairs  map[*api.Pair]bool
-	funs   map[*api.Fun]bool
-	vars   map[*api.Var]bool
-	names  map[*string]bool
-	twice  bool
+	terms   map[*api.Term]bool
+	claims  map[*api.Claim]bool
+	pairs   map[*api.Pair]bool
+	funs    map[*api.Fun]bool
+	vars    map[*api.Var]bool
+	names   map[*string]bool
+	numbers map[*int]bool
+	values  map[*bool]bool
+	twice   bool
 }
 
 // note takes the places of the lists within c.

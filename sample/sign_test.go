@@ -19,7 +19,7 @@ func typed() []api.Var { return Free("x A, y Int,z B") }
 
 // kinds has one list of each kind, each time in new memory.
 func kinds() Data {
-	return Data{Pairs: [][]api.Pair{list()}, Claims: []api.Claim{whole()}, Signs: []api.Sign{signature()}, Vars: [][]api.Var{typed()}, Names: [][]string{{"A", "", "B"}}}
+	return Data{Pairs: [][]api.Pair{list()}, Claims: []api.Claim{whole()}, Signs: []api.Sign{signature()}, Vars: [][]api.Var{typed()}, Names: [][]string{{"A", "", "B"}}, Clauses: [][]int{{3, -1, 0}}, Values: [][]bool{{true, false, true}}}
 }
 
 func TestSign(t *testing.T) {
@@ -55,6 +55,12 @@ func kindChanges() map[string]func(d *Data) {
 		"all variables":  func(d *Data) { SpoilVars(d.Vars[0]) },
 		"all names":      func(d *Data) { SpoilNames(d.Names[0]) },
 		"one function":   func(d *Data) { SpoilFun(&d.Signs[0].Funs[0]) },
+		"number":         func(d *Data) { d.Clauses[0][1] = 1 },
+		"fewer numbers":  func(d *Data) { d.Clauses[0] = d.Clauses[0][:2] },
+		"all numbers":    func(d *Data) { SpoilClause(d.Clauses[0]) },
+		"value":          func(d *Data) { d.Values[0][2] = false },
+		"fewer values":   func(d *Data) { d.Values[0] = d.Values[0][:2] },
+		"all values":     func(d *Data) { SpoilValues(d.Values[0]) },
 	}
 }
 
@@ -75,8 +81,10 @@ func TestKindsEqualAndChanged(t *testing.T) {
 		"variables": func(d *Data) { d.Vars[0] = []api.Var{} },
 		"names":     func(d *Data) { d.Names[0] = []string{} },
 		"args":      func(d *Data) { d.Signs[1].Funs[0].Args = []string{} },
+		"numbers":   func(d *Data) { d.Clauses[0] = []int{} },
+		"values":    func(d *Data) { d.Values[0] = []bool{} },
 	} {
-		d := Data{Signs: []api.Sign{{}, {Funs: []api.Fun{{}}}}, Vars: [][]api.Var{nil}, Names: [][]string{nil}}
+		d := Data{Signs: []api.Sign{{}, {Funs: []api.Fun{{}}}}, Vars: [][]api.Var{nil}, Names: [][]string{nil}, Clauses: [][]int{nil}, Values: [][]bool{nil}}
 		before := d.twin()
 		if said := d.Changed(func() { change(&d) }); said == "" || !d.Equal(before) {
 			t.Errorf("an empty list of %s in place of nil: %q", name, said)
@@ -89,6 +97,7 @@ func TestKindsShare(t *testing.T) {
 	s := d.Signs[0]
 	for i, part := range []Data{
 		d, {Signs: d.Signs}, {Vars: d.Vars}, {Names: d.Names}, {Names: [][]string{s.Sorts}}, {Names: [][]string{s.Funs[1].Args[1:]}}, {Names: [][]string{d.Names[0][:0]}}, {Vars: [][]api.Var{d.Vars[0][2:]}},
+		{Clauses: d.Clauses}, {Clauses: [][]int{d.Clauses[0][2:]}}, {Values: d.Values}, {Values: [][]bool{d.Values[0][:1]}},
 		{Signs: []api.Sign{{Funs: s.Funs[1:]}}}, {Signs: []api.Sign{{Sorts: d.Names[0]}}}, {Signs: []api.Sign{{Funs: []api.Fun{{Args: s.Sorts}}}}},
 	} {
 		if !part.Shares(d) || part.Shares(kinds()) || !part.With(part).Shares(Data{}) {
@@ -106,13 +115,15 @@ func TestSpoiltKinds(t *testing.T) {
 		t.Error(room[:cap(room)], args, FunText(s.Funs[:2][1]))
 	}
 	d := kinds()
-	if said := Tied(func() Data { return kinds() }, d); said != "" || d.Equal(kinds()) || d.Signs[0].Sorts[0] != "spoilt" || d.Vars[0][0].Name != "spoilt" || d.Names[0][0] != "spoilt" {
+	if said := Tied(func() Data { return kinds() }, d); said != "" || d.Equal(kinds()) || d.Signs[0].Sorts[0] != "spoilt" || d.Vars[0][0].Name != "spoilt" || d.Names[0][0] != "spoilt" || d.Clauses[0][0] != 99 || d.Values[0][0] {
 		t.Error(said, d.Text())
 	}
 	for i, call := range []func(d Data) Data{
 		func(d Data) Data { return Data{Signs: []api.Sign{{Sorts: d.Signs[0].Sorts}}} },
 		func(d Data) Data { return Data{Vars: d.Vars} },
 		func(d Data) Data { return Data{Names: d.Names} },
+		func(d Data) Data { return Data{Clauses: d.Clauses} },
+		func(d Data) Data { return Data{Values: d.Values} },
 	} {
 		d := kinds()
 		if said := Tied(func() Data { return call(d) }, d); said == "" {

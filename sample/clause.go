@@ -1,0 +1,45 @@
+package sample
+
+import (
+	"slices"
+	"strconv"
+)
+
+// Clauses are lists of numbers as data.
+func Clauses(l ...[]int) Data { return Data{Clauses: l} }
+
+// Values are lists of values as data.
+func Values(l ...[]bool) Data { return Data{Values: l} }
+
+// Choices are all lists of at most n of the elements, each as often as there is room for it, shorter lists ahead of longer ones.
+func Choices[T any](n int, elements ...T) [][]T {
+	all := [][]T{nil}
+	last := all
+	for range n {
+		var longer [][]T
+		for _, l := range last {
+			for _, x := range elements {
+				longer = append(longer, append(slices.Clip(l), x))
+			}
+		}
+		all, last = append(all, longer...), longer
+	}
+	return all
+}
+
+// ClauseText are the first numbers of l, and how many there are.
+func ClauseText(l []int) string { return texts("numbers", l, strconv.Itoa) }
+
+// ValuesText are the first values of l, and how many there are.
+func ValuesText(l []bool) string { return texts("values", l, strconv.FormatBool) }
+
+// SpoilClause changes all numbers of l, and what is free behind it.
+func SpoilClause(l []int) { fill(l, 99) }
+
+// SpoilValues changes all values of l, and what is free behind it.
+func SpoilValues(l []bool) {
+	whole := l[:cap(l)]
+	for i := range whole {
+		whole[i] = !whole[i]
+	}
+}
