@@ -19,31 +19,6 @@ func critical() []int {
 // ends are the numbers at the ends, and those at 0.
 func ends() []int { return []int{0, lowest, lowest + 1, greatest, 1, -1} }
 
-// literals are those of the variables 1 to n.
-func literals(n int) []int {
-	var l []int
-	for v := 1; v <= n; v++ {
-		l = append(l, v, -v)
-	}
-	return l
-}
-
-// rising are the n literals from 1 on.
-func rising(n int) []int {
-	l := make([]int, n)
-	for i := range l {
-		l[i] = i + 1
-	}
-	return l
-}
-
-// with is c with l in place of its element i.
-func with(c []int, i, l int) []int {
-	c = slices.Clone(c)
-	c[i] = l
-	return c
-}
-
 // allValues are all values of at most n variables.
 func allValues(n int) [][]bool { return sample.Choices(n, true, false) }
 
@@ -93,30 +68,30 @@ func TestRightAtTheLimit(t *testing.T) {
 		t.Error(api.MaxLits)
 	}
 	for _, n := range []int{62, 63, 64} {
-		checkRight(t, rising(n), n, api.OK)
-		checkRight(t, rising(n), n-1, api.ErrArg)
+		checkRight(t, sample.Rising(n), n, api.OK)
+		checkRight(t, sample.Rising(n), n-1, api.ErrArg)
 		checkRight(t, slices.Repeat([]int{-7}, n), 7, api.OK)
 		checkRight(t, slices.Repeat([]int{-7}, n), 6, api.ErrArg)
 		checkRight(t, make([]int, n), 9, api.ErrArg)
 		for i := range n {
 			for _, l := range []int{0, lowest, n + 1, -n - 1, greatest, -greatest} {
-				checkRight(t, with(rising(n), i, l), n, api.ErrArg)
+				checkRight(t, sample.Put(sample.Rising(n), i, l), n, api.ErrArg)
 			}
-			checkRight(t, with(rising(n), i, -i-1), n, api.OK)
+			checkRight(t, sample.Put(sample.Rising(n), i, -i-1), n, api.OK)
 		}
 	}
 	// Every number counts, whether it is a literal, and however often it stands there.
 	for _, n := range []int{65, 66, 128, 1000, 30000} {
 		for _, most := range []int{lowest, -1, 0, 1, n - 1, n, greatest} {
-			checkRight(t, rising(n), most, api.ErrLong)
+			checkRight(t, sample.Rising(n), most, api.ErrLong)
 			checkRight(t, make([]int, n), most, api.ErrLong)
 			checkRight(t, slices.Repeat([]int{1}, n), most, api.ErrLong)
 			checkRight(t, slices.Repeat([]int{lowest}, n), most, api.ErrLong)
 		}
 	}
 	for i := range 65 {
-		checkRight(t, with(rising(65), i, 0), 65, api.ErrLong)
-		checkRight(t, with(rising(65), i, lowest), 65, api.ErrLong)
+		checkRight(t, sample.Put(sample.Rising(65), i, 0), 65, api.ErrLong)
+		checkRight(t, sample.Put(sample.Rising(65), i, lowest), 65, api.ErrLong)
 	}
 }
 
@@ -159,9 +134,9 @@ func TestCleanOfOpposites(t *testing.T) {
 	checkClean(t, []int{0, lowest, 0, lowest}, nil, true)
 	for n := 1; n <= 64; n++ {
 		for i := range n {
-			want := slices.Insert(rising(n), i, -i-1)
-			checkClean(t, append(rising(n), -i-1), want, false)
-			checkClean(t, append([]int{-i - 1}, rising(n)...), want, false)
+			want := slices.Insert(sample.Rising(n), i, -i-1)
+			checkClean(t, append(sample.Rising(n), -i-1), want, false)
+			checkClean(t, append([]int{-i - 1}, sample.Rising(n)...), want, false)
 			back := slices.Clone(want)
 			slices.Reverse(back)
 			checkClean(t, back, want, false)
@@ -213,9 +188,9 @@ func TestSame(t *testing.T) {
 	checkSame(t, []int{0, 1}, []int{0, 2}, false)
 	checkSame(t, []int{greatest}, []int{-greatest}, false)
 	checkSame(t, []int{greatest, lowest}, []int{0, greatest, greatest}, true)
-	checkSame(t, rising(64), append(rising(64), rising(64)...), true)
-	checkSame(t, rising(64), rising(63), false)
-	checkSame(t, rising(200), slices.Repeat(rising(200), 3), true)
+	checkSame(t, sample.Rising(64), append(sample.Rising(64), sample.Rising(64)...), true)
+	checkSame(t, sample.Rising(64), sample.Rising(63), false)
+	checkSame(t, sample.Rising(200), slices.Repeat(sample.Rising(200), 3), true)
 }
 
 func TestWithin(t *testing.T) {
@@ -244,10 +219,10 @@ func TestWithin(t *testing.T) {
 	checkWithin(t, []int{-greatest}, []int{lowest, -greatest}, true)
 	for n := 1; n <= 64; n++ {
 		for i := range n {
-			checkWithin(t, []int{i + 1}, rising(n), true)
-			checkWithin(t, with(rising(n), i, -i-1), rising(n), false)
-			checkWithin(t, slices.Delete(rising(n), i, i+1), rising(n), true)
-			checkWithin(t, rising(n), slices.Delete(rising(n), i, i+1), false)
+			checkWithin(t, []int{i + 1}, sample.Rising(n), true)
+			checkWithin(t, sample.Put(sample.Rising(n), i, -i-1), sample.Rising(n), false)
+			checkWithin(t, slices.Delete(sample.Rising(n), i, i+1), sample.Rising(n), true)
+			checkWithin(t, sample.Rising(n), slices.Delete(sample.Rising(n), i, i+1), false)
 		}
 	}
 }
@@ -341,8 +316,8 @@ func TestResolve(t *testing.T) {
 	checkResolve(t, []int{1, 0, 3}, []int{-1, lowest, 2}, 1, []int{2, 3}, api.OK)
 	checkResolve(t, []int{greatest, 1}, []int{-greatest, -2}, greatest, []int{1, -2}, api.OK)
 	checkResolve(t, []int{-greatest}, []int{greatest, 1 - greatest}, -greatest, []int{1 - greatest}, api.OK)
-	checkResolve(t, rising(64), with(rising(64), 40, -41), 41, slices.Delete(rising(64), 40, 41), api.OK)
-	checkResolve(t, append(rising(64), 65), append(rising(64), -65), 65, rising(64), api.OK)
+	checkResolve(t, sample.Rising(64), sample.Put(sample.Rising(64), 40, -41), 41, slices.Delete(sample.Rising(64), 40, 41), api.OK)
+	checkResolve(t, append(sample.Rising(64), 65), append(sample.Rising(64), -65), 65, sample.Rising(64), api.OK)
 }
 
 func TestResolveByNoSuchLiteral(t *testing.T) {
@@ -405,8 +380,8 @@ func TestPairsFollowTheChapter(t *testing.T) {
 			}
 		}
 	}
-	pairs(sample.Choices(3, append(literals(2), 0)...), append(literals(2), 3, 0, lowest)...)
-	pairs(sample.Choices(2, literals(4)...), 1, -1, 2, -4)
+	pairs(sample.Choices(3, append(sample.Literals(2), 0)...), append(sample.Literals(2), 3, 0, lowest)...)
+	pairs(sample.Choices(2, sample.Literals(4)...), 1, -1, 2, -4)
 	pairs(sample.Choices(2, ends()...), append(ends(), 2)...)
 	if l := sample.Rare(found, 1000, api.OK, api.ErrArg, api.ErrSame); len(l) > 0 || len(found) != 3 {
 		t.Error(found)
@@ -483,7 +458,7 @@ func TestHoldsOfNoLiterals(t *testing.T) {
 // Lists that are longer and scattered follow the chapter in every call.
 func TestScatteredFollowTheChapter(t *testing.T) {
 	next := sample.Scattered(88172645463325252)
-	numbers := append(append(literals(8), literals(4)...), 0, lowest, greatest, -greatest)
+	numbers := append(append(sample.Literals(8), sample.Literals(4)...), 0, lowest, greatest, -greatest)
 	list := func() []int {
 		var l []int
 		for range next(9) {
@@ -521,10 +496,10 @@ func TestScatteredFollowTheChapter(t *testing.T) {
 
 func TestResolventHolds(t *testing.T) {
 	n, values := 0, allValues(3)
-	lists := sample.Choices(3, literals(3)...)
+	lists := sample.Choices(3, sample.Literals(3)...)
 	for _, a := range lists {
 		for _, b := range lists {
-			for _, v := range literals(3) {
+			for _, v := range sample.Literals(3) {
 				c, e := Resolve(a, b, v)
 				if e != api.OK {
 					continue
@@ -545,7 +520,7 @@ func TestResolventHolds(t *testing.T) {
 
 func TestCleanHoldsAlike(t *testing.T) {
 	values := allValues(3)
-	for _, c := range sample.Choices(4, append(literals(3), 0, lowest)...) {
+	for _, c := range sample.Choices(4, append(sample.Literals(3), 0, lowest)...) {
 		clean, ok := Clean(c)
 		again, still := Clean(clean)
 		if !slices.Equal(clean, again) || ok != still || !Same(c, clean) || !Within(c, clean) || !Within(clean, c) {
@@ -565,7 +540,7 @@ func TestCleanHoldsAlike(t *testing.T) {
 
 func TestWhatIsWithinHolds(t *testing.T) {
 	values := allValues(3)
-	lists := sample.Choices(3, append(literals(3), 0)...)
+	lists := sample.Choices(3, append(sample.Literals(3), 0)...)
 	n := 0
 	for _, a := range lists {
 		for _, b := range lists {
@@ -590,10 +565,10 @@ func TestWhatIsWithinHolds(t *testing.T) {
 // Lists of any length are taken, also far beyond what Right lets be.
 func TestLongLists(t *testing.T) {
 	const n = 1 << 17
-	up := rising(n)
+	up := sample.Rising(n)
 	down := slices.Clone(up)
 	slices.Reverse(down)
-	other := with(up, n/2, -n/2-1)
+	other := sample.Put(up, n/2, -n/2-1)
 	checkRight(t, up, n, api.ErrLong)
 	checkClean(t, slices.Concat(down, up, make([]int, n)), up, true)
 	checkClean(t, slices.Concat(down, []int{-n}), slices.Insert(slices.Clone(up), n-1, -n), false)
@@ -606,7 +581,7 @@ func TestLongLists(t *testing.T) {
 	checkPivot(t, other, down, n/2+1, true)
 	checkPivot(t, up, down, 0, false)
 	checkResolve(t, down, other, n/2+1, slices.Delete(slices.Clone(up), n/2, n/2+1), api.OK)
-	checkResolve(t, down, with(other, 0, -1), n/2+1, nil, api.ErrSame)
+	checkResolve(t, down, sample.Put(other, 0, -1), n/2+1, nil, api.ErrSame)
 	checkResolve(t, down, other, n+1, nil, api.ErrArg)
 	values := slices.Repeat([]bool{true}, n-1)
 	checkValues(t, up, values, n-1)
@@ -627,7 +602,7 @@ func TestArgumentsStay(t *testing.T) {
 				Same(a, b)
 				Within(a, b)
 				Pivot(a, b)
-				for _, v := range literals(3) {
+				for _, v := range sample.Literals(3) {
 					Has(a, v)
 					Resolve(a, b, v)
 				}
@@ -643,7 +618,7 @@ func TestArgumentsStay(t *testing.T) {
 
 // A changed argument changes no answer that was there, and a changed answer no later one.
 func TestAnswersStay(t *testing.T) {
-	for _, c := range [][]int{nil, {1}, {-1, 2}, {2, -1, 2}, {1, 2, 3}, {3, 0, -2, 1, 1}, {1, -1}, rising(64)} {
+	for _, c := range [][]int{nil, {1}, {-1, 2}, {2, -1, 2}, {1, 2, 3}, {3, 0, -2, 1, 1}, {1, -1}, sample.Rising(64)} {
 		a := sample.Roomy(c, -77)
 		clean := func() sample.Data { l, _ := Clean(a); return sample.Clauses(l) }
 		if said := sample.Tied(clean, sample.Clauses(a)); said != "" {
@@ -659,9 +634,9 @@ func TestAnswersStay(t *testing.T) {
 
 // A list may be both arguments.
 func TestOneListTwice(t *testing.T) {
-	for _, c := range sample.Choices(3, append(literals(2), 0)...) {
+	for _, c := range sample.Choices(3, append(sample.Literals(2), 0)...) {
 		followPair(t, c, c)
-		for _, v := range literals(2) {
+		for _, v := range sample.Literals(2) {
 			want, e := wantResolve(c, c, v)
 			var f api.Errno
 			isList(t, func() (l []int) { l, f = Resolve(c, c, v); return l }, want, c)

@@ -30,6 +30,19 @@ func TestSpoiltClauses(t *testing.T) {
 	}
 }
 
+func TestLists(t *testing.T) {
+	up := Rising(4)
+	if l := Put(up, 2, -9); !slices.Equal(l, []int{1, 2, -9, 4}) || !slices.Equal(up, []int{1, 2, 3, 4}) || Clauses(l).Shares(Clauses(up)) {
+		t.Error(l, up)
+	}
+	if l := Literals(2); !slices.Equal(l, []int{1, -1, 2, -2}) {
+		t.Error(l)
+	}
+	if len(Rising(0)) != 0 || len(Literals(0)) != 0 {
+		t.Error(Rising(0), Literals(0))
+	}
+}
+
 func TestChoices(t *testing.T) {
 	all := Choices(3, 7, 8)
 	seen := map[string]bool{}

@@ -16,6 +16,7 @@ type Data struct {
 	Names   [][]string
 	Clauses [][]int
 	Values  [][]bool
+	Sets    []api.Cnf
 }
 
 // Lists are substitutions as data.
@@ -37,6 +38,7 @@ func (d Data) With(e Data) Data {
 		Names:   slices.Concat(d.Names, e.Names),
 		Clauses: slices.Concat(d.Clauses, e.Clauses),
 		Values:  slices.Concat(d.Values, e.Values),
+		Sets:    slices.Concat(d.Sets, e.Sets),
 	}
 }
 
@@ -44,12 +46,13 @@ func (d Data) With(e Data) Data {
 func (d Data) Equal(e Data) bool {
 	return slices.EqualFunc(d.Pairs, e.Pairs, EqualPairs) && slices.EqualFunc(d.Claims, e.Claims, EqualClaims) &&
 		slices.EqualFunc(d.Signs, e.Signs, EqualSigns) && slices.EqualFunc(d.Vars, e.Vars, slices.Equal) && slices.EqualFunc(d.Names, e.Names, slices.Equal) &&
-		slices.EqualFunc(d.Clauses, e.Clauses, slices.Equal) && slices.EqualFunc(d.Values, e.Values, slices.Equal)
+		slices.EqualFunc(d.Clauses, e.Clauses, slices.Equal) && slices.EqualFunc(d.Values, e.Values, slices.Equal) &&
+		slices.EqualFunc(d.Sets, e.Sets, EqualSets)
 }
 
 // Text is d without most of what is long.
 func (d Data) Text() string {
-	lists := slices.Concat(twins(d.Pairs, PairsText), twins(d.Signs, SignText), twins(d.Vars, VarsText), twins(d.Names, NamesText), twins(d.Clauses, ClauseText), twins(d.Values, ValuesText))
+	lists := slices.Concat(twins(d.Pairs, PairsText), twins(d.Signs, SignText), twins(d.Vars, VarsText), twins(d.Names, NamesText), twins(d.Clauses, ClauseText), twins(d.Values, ValuesText), twins(d.Sets, SetText))
 	s := ""
 	for _, l := range lists {
 		s += "[" + l + "] "
@@ -67,7 +70,8 @@ func (d Data) Changed(f func()) string {
 		difference(before.Vars, d.Vars, identicalElements, VarsText) +
 		difference(before.Names, d.Names, identicalElements, NamesText) +
 		difference(before.Clauses, d.Clauses, identicalElements, ClauseText) +
-		difference(before.Values, d.Values, identicalElements, ValuesText)
+		difference(before.Values, d.Values, identicalElements, ValuesText) +
+		difference(before.Sets, d.Sets, identicalSets, SetText)
 }
 
 // Shares tells whether a list of d shares memory with another one of d or with one of the arguments, be it behind its end.
@@ -75,7 +79,7 @@ func (d Data) Shares(arguments Data) bool {
 	m := memory{
 		terms: map[*api.Term]bool{}, claims: map[*api.Claim]bool{}, pairs: map[*api.Pair]bool{},
 		funs: map[*api.Fun]bool{}, vars: map[*api.Var]bool{}, names: map[*string]bool{},
-		numbers: map[*int]bool{}, values: map[*bool]bool{},
+		numbers: map[*int]bool{}, values: map[*bool]bool{}, clauses: map[*[]int]bool{},
 	}
 	m.noteData(arguments)
 	m.twice = false
@@ -103,6 +107,9 @@ func (m *memory) noteData(d Data) {
 	}
 	for _, l := range d.Values {
 		m.twice = taken(m.values, l) || m.twice
+	}
+	for _, c := range d.Sets {
+		m.noteSet(c)
 	}
 }
 
@@ -148,6 +155,7 @@ func (d Data) twin() Data {
 		Names:   twins(d.Names, twinElements),
 		Clauses: twins(d.Clauses, twinElements),
 		Values:  twins(d.Values, twinElements),
+		Sets:    twins(d.Sets, TwinSet),
 	}
 }
 
@@ -173,6 +181,9 @@ func (d Data) Spoil() {
 	}
 	for _, l := range d.Values {
 		SpoilValues(l)
+	}
+	for _, c := range d.Sets {
+		SpoilSet(c)
 	}
 }
 

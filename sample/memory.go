@@ -106,6 +106,7 @@ type memory struct {
 	names   map[*string]bool
 	numbers map[*int]bool
 	values  map[*bool]bool
+	clauses map[*[]int]bool
 	twice   bool
 }
 
@@ -141,6 +142,13 @@ func (m *memory) noteSign(s api.Sign) {
 	m.twice = taken(m.funs, s.Funs) || m.twice
 	for _, f := range s.Funs {
 		m.twice = taken(m.names, f.Args) || m.twice
+	}
+}
+
+func (m *memory) noteSet(c api.Cnf) {
+	m.twice = taken(m.clauses, c.L) || m.twice
+	for _, l := range c.L {
+		m.twice = taken(m.numbers, l) || m.twice
 	}
 }
 

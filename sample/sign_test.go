@@ -19,7 +19,7 @@ func typed() []api.Var { return Free("x A, y Int,z B") }
 
 // kinds has one list of each kind, each time in new memory.
 func kinds() Data {
-	return Data{Pairs: [][]api.Pair{list()}, Claims: []api.Claim{whole()}, Signs: []api.Sign{signature()}, Vars: [][]api.Var{typed()}, Names: [][]string{{"A", "", "B"}}, Clauses: [][]int{{3, -1, 0}}, Values: [][]bool{{true, false, true}}}
+	return Data{Pairs: [][]api.Pair{list()}, Claims: []api.Claim{whole()}, Signs: []api.Sign{signature()}, Vars: [][]api.Var{typed()}, Names: [][]string{{"A", "", "B"}}, Clauses: [][]int{{3, -1, 0}}, Values: [][]bool{{true, false, true}}, Sets: []api.Cnf{SetOf(3, "1 -2;3;")}}
 }
 
 func TestSign(t *testing.T) {
@@ -61,6 +61,13 @@ func kindChanges() map[string]func(d *Data) {
 		"value":          func(d *Data) { d.Values[0][2] = false },
 		"fewer values":   func(d *Data) { d.Values[0] = d.Values[0][:2] },
 		"all values":     func(d *Data) { SpoilValues(d.Values[0]) },
+		"N":              func(d *Data) { d.Sets[0].N = 2 },
+		"literal":        func(d *Data) { d.Sets[0].L[0][1] = 2 },
+		"fewer literals": func(d *Data) { d.Sets[0].L[0] = d.Sets[0].L[0][:1] },
+		"fewer clauses":  func(d *Data) { d.Sets[0].L = d.Sets[0].L[:1] },
+		"no clauses":     func(d *Data) { d.Sets[0].L = nil },
+		"order":          func(d *Data) { slices.Reverse(d.Sets[0].L) },
+		"all clauses":    func(d *Data) { SpoilSet(d.Sets[0]) },
 	}
 }
 
@@ -83,8 +90,10 @@ func TestKindsEqualAndChanged(t *testing.T) {
 		"args":      func(d *Data) { d.Signs[1].Funs[0].Args = []string{} },
 		"numbers":   func(d *Data) { d.Clauses[0] = []int{} },
 		"values":    func(d *Data) { d.Values[0] = []bool{} },
+		"clauses":   func(d *Data) { d.Sets[0].L = [][]int{} },
+		"literals":  func(d *Data) { d.Sets[1].L[0] = []int{} },
 	} {
-		d := Data{Signs: []api.Sign{{}, {Funs: []api.Fun{{}}}}, Vars: [][]api.Var{nil}, Names: [][]string{nil}, Clauses: [][]int{nil}, Values: [][]bool{nil}}
+		d := Data{Signs: []api.Sign{{}, {Funs: []api.Fun{{}}}}, Vars: [][]api.Var{nil}, Names: [][]string{nil}, Clauses: [][]int{nil}, Values: [][]bool{nil}, Sets: []api.Cnf{{}, Set(0, nil)}}
 		before := d.twin()
 		if said := d.Changed(func() { change(&d) }); said == "" || !d.Equal(before) {
 			t.Errorf("an empty list of %s in place of nil: %q", name, said)
@@ -98,6 +107,7 @@ func TestKindsShare(t *testing.T) {
 	for i, part := range []Data{
 		d, {Signs: d.Signs}, {Vars: d.Vars}, {Names: d.Names}, {Names: [][]string{s.Sorts}}, {Names: [][]string{s.Funs[1].Args[1:]}}, {Names: [][]string{d.Names[0][:0]}}, {Vars: [][]api.Var{d.Vars[0][2:]}},
 		{Clauses: d.Clauses}, {Clauses: [][]int{d.Clauses[0][2:]}}, {Values: d.Values}, {Values: [][]bool{d.Values[0][:1]}},
+		{Sets: d.Sets}, {Clauses: d.Sets[0].L[1:]}, Sets(Set(0, d.Clauses...)), Sets(Set(0, d.Sets[0].L[:0]...)),
 		{Signs: []api.Sign{{Funs: s.Funs[1:]}}}, {Signs: []api.Sign{{Sorts: d.Names[0]}}}, {Signs: []api.Sign{{Funs: []api.Fun{{Args: s.Sorts}}}}},
 	} {
 		if !part.Shares(d) || part.Shares(kinds()) || !part.With(part).Shares(Data{}) {
@@ -115,7 +125,7 @@ func TestSpoiltKinds(t *testing.T) {
 		t.Error(room[:cap(room)], args, FunText(s.Funs[:2][1]))
 	}
 	d := kinds()
-	if said := Tied(func() Data { return kinds() }, d); said != "" || d.Equal(kinds()) || d.Signs[0].Sorts[0] != "spoilt" || d.Vars[0][0].Name != "spoilt" || d.Names[0][0] != "spoilt" || d.Clauses[0][0] != 99 || d.Values[0][0] {
+	if said := Tied(func() Data { return kinds() }, d); said != "" || d.Equal(kinds()) || d.Signs[0].Sorts[0] != "spoilt" || d.Vars[0][0].Name != "spoilt" || d.Names[0][0] != "spoilt" || d.Clauses[0][0] != 99 || d.Values[0][0] || d.Sets[0].L[1][0] != 99 {
 		t.Error(said, d.Text())
 	}
 	for i, call := range []func(d Data) Data{
@@ -124,6 +134,7 @@ func TestSpoiltKinds(t *testing.T) {
 		func(d Data) Data { return Data{Names: d.Names} },
 		func(d Data) Data { return Data{Clauses: d.Clauses} },
 		func(d Data) Data { return Data{Values: d.Values} },
+		func(d Data) Data { return Sets(Set(1, slices.Clone(d.Sets[0].L)...)) },
 	} {
 		d := kinds()
 		if said := Tied(func() Data { return call(d) }, d); said == "" {
