@@ -2,6 +2,7 @@ package sample
 
 import (
 	"slices"
+	"strings"
 	"testing"
 )
 
@@ -18,6 +19,14 @@ func TestClauses(t *testing.T) {
 	}
 	if s := ValuesText(make([]bool, 1000)); len(s) > 200 {
 		t.Error(s)
+	}
+}
+
+func TestTextOfManyLists(t *testing.T) {
+	for n, want := range map[int]string{20: "] 0 claims: ", 21: "] and 1 more 0 claims: ", 65536: "] and 65516 more 0 claims: "} {
+		if s := Values(make([][]bool, n)...).Text(); strings.Count(s, "[") != 20 || !strings.HasSuffix(s, want) {
+			t.Error(n, s)
+		}
 	}
 }
 

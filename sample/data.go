@@ -2,6 +2,7 @@ package sample
 
 import (
 	"slices"
+	"strconv"
 	"strings"
 
 	"sequitur/api"
@@ -50,12 +51,15 @@ func (d Data) Equal(e Data) bool {
 		slices.EqualFunc(d.Sets, e.Sets, EqualSets)
 }
 
-// Text is d without most of what is long.
+// Text is d without most of what is long, and of what are many.
 func (d Data) Text() string {
 	lists := slices.Concat(twins(d.Pairs, PairsText), twins(d.Signs, SignText), twins(d.Vars, VarsText), twins(d.Names, NamesText), twins(d.Clauses, ClauseText), twins(d.Values, ValuesText), twins(d.Sets, SetText))
 	s := ""
-	for _, l := range lists {
+	for _, l := range lists[:min(len(lists), 20)] {
 		s += "[" + l + "] "
+	}
+	if n := len(lists) - 20; n > 0 {
+		s += "and " + strconv.Itoa(n) + " more "
 	}
 	return s + ClaimTexts(d.Claims)
 }
